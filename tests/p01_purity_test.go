@@ -40,7 +40,25 @@ func numberCalls() map[string]func(n, k int64, s string) []any {
 		"ReadNeedle":          func(_, _ int64, s string) []any { return result(impl.ReadNeedle(s)) },
 		"SplitWords":          func(_, _ int64, s string) []any { return result(impl.SplitWords(s)) },
 		"IdentityPermutation": func(n, _ int64, _ string) []any { return result(impl.IdentityPermutation(n)) },
+		"ReadBraid":           func(_, _ int64, s string) []any { return result(impl.ReadBraid(s)) },
 		"PermutationAt":       func(n, k int64, _ string) []any { return result(impl.PermutationAt(n, k)) },
+	}
+}
+
+// braidCalls are calls of all functions that have braids as arguments.
+func braidCalls() map[string]func(a, b impl.Braid, sizes []int64) []any {
+	return map[string]func(a, b impl.Braid, sizes []int64) []any{
+		"ValidBraid":       func(a, _ impl.Braid, _ []int64) []any { return result(impl.ValidBraid(a)) },
+		"SameBraid":        func(a, b impl.Braid, _ []int64) []any { return result(impl.SameBraid(a, b)) },
+		"ReduceBraid":      func(a, _ impl.Braid, _ []int64) []any { return result(impl.ReduceBraid(a)) },
+		"InvertBraid":      func(a, _ impl.Braid, _ []int64) []any { return result(impl.InvertBraid(a)) },
+		"JoinBraids":       func(a, b impl.Braid, _ []int64) []any { return result(impl.JoinBraids(a, b)) },
+		"ExponentSum":      func(a, _ impl.Braid, _ []int64) []any { return result(impl.ExponentSum(a)) },
+		"BraidPermutation": func(a, _ impl.Braid, _ []int64) []any { return result(impl.BraidPermutation(a)) },
+		"MirrorBraid":      func(a, _ impl.Braid, _ []int64) []any { return result(impl.MirrorBraid(a)) },
+		"DoubleBraid":      func(a, _ impl.Braid, sizes []int64) []any { return result(impl.DoubleBraid(a, sizes)) },
+		"WidenBraid":       func(a, b impl.Braid, _ []int64) []any { return result(impl.WidenBraid(a, b.Strands, 0)) },
+		"BraidText":        func(a, _ impl.Braid, _ []int64) []any { return result(impl.BraidText(a)) },
 	}
 }
 
@@ -58,6 +76,8 @@ func scribble(values []any) {
 			for i := range list {
 				list[i] = "scribble"
 			}
+		case impl.Braid:
+			scribble(result(list.Word))
 		}
 	}
 }
@@ -84,6 +104,47 @@ func TestListsAreNeitherChangedNorShared(t *testing.T) {
 	}
 }
 
+// P1, for arguments that are braids.
+func TestBraidsAreNeitherChangedNorShared(t *testing.T) {
+	braids := append(notBraids(), braid(0), braid(1), braid(3), braid(4, 1, -2, 3), braid(4, 1, 2, -2, -1), braid(4, 1, -1, 2), braid(12, 11), repeated(4, 3, 40))
+	lists := [][]int64{nil, {1}, {0, 0, 0}, {1, 1, 1, 1}, {2, 1, 0, 1}, {4, 4, 4, 4}, {1, 5, 1, 1}, slices.Repeat([]int64{1}, 12)}
+	for name, call := range braidCalls() {
+		for _, a := range braids {
+			for _, b := range braids {
+				for _, sizes := range lists {
+					isPureBraidCall(t, name, call, a, b, sizes)
+				}
+			}
+		}
+	}
+}
+
+func isPureBraidCall(t *testing.T, name string, call func(a, b impl.Braid, sizes []int64) []any, a, b impl.Braid, sizes []int64) {
+	t.Helper()
+	x, y, z := withSpare(a.Word), withSpare(b.Word), withSpare(sizes)
+	again := func() []any { return call(braid(a.Strands, x...), braid(b.Strands, y...), z) }
+	first := again()
+	text := fmt.Sprint(first)
+	second := again()
+	scribble(first)
+	is(t, name, second, text)
+	is(t, name, again(), text)
+	if !isUntouched(x, a.Word) || !isUntouched(y, b.Word) || !isUntouched(z, sizes) {
+		t.Errorf("%s: changed or shared %v, %v or %v", name, a, b, sizes)
+	}
+}
+
+// One piece of memory may hold both words, one behind the other, and the sizes.
+func TestBraidsThatShareMemory(t *testing.T) {
+	for name, call := range braidCalls() {
+		memory := []int64{1, 2, 1, 2, 1, 2}
+		first, second := braid(3, memory[:3]...), braid(3, memory[3:]...)
+		is(t, name, call(first, first, memory[3:]), call(braid(3, 1, 2, 1), braid(3, 1, 2, 1), []int64{2, 1, 2}))
+		is(t, name, call(first, second, memory[:3]), call(braid(3, 1, 2, 1), braid(3, 2, 1, 2), []int64{1, 2, 1}))
+		is(t, name, memory, "[1 2 1 2 1 2]")
+	}
+}
+
 // A list may be given twice in one call.
 func TestOneListAsBothArguments(t *testing.T) {
 	for name, call := range listCalls() {
@@ -98,7 +159,7 @@ func TestOneListAsBothArguments(t *testing.T) {
 // P1, for numbers and texts.
 func TestNumbersAndTexts(t *testing.T) {
 	numbers := []int64{math.MinInt64, -1000000000, -1, 0, 1, 2, 3, 11, 12, 13, 23, 24, 1000000000, math.MaxInt64}
-	texts := []string{"", " ", "\t", "-", "-0", "7", "007", "f1", "b 2", "rib", "\xff\xfe", "a b c", strings.Repeat("9", 5000), strings.Repeat(" x", 5000)}
+	texts := []string{"", " ", "\t", "-", "-0", "7", "007", "f1", "b 2", "rib", "\xff\xfe", "a b c", "2:", "3: 1 -2", "3: 3", "3:  1", strings.Repeat("9", 5000), strings.Repeat(" x", 5000)}
 	for name, call := range numberCalls() {
 		for _, n := range numbers {
 			for i, s := range texts {
