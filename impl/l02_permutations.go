@@ -128,11 +128,15 @@ func ComposePermutations(first, second []int64) ([]int64, bool) {
 	if !permutationsOfSameLength(first, second) {
 		return nil, false
 	}
+	return composed(first, second), true
+}
+
+func composed(first, second []int64) []int64 {
 	p := make([]int64, len(first))
 	for i, place := range first {
 		p[i] = second[place]
 	}
-	return p, true
+	return p
 }
 
 // InvertPermutation returns the permutation that undoes p.
@@ -207,8 +211,10 @@ func MeetPermutations(a, b []int64) ([]int64, bool) {
 	if !permutationsOfSameLength(a, b) {
 		return nil, false
 	}
-	return reversed(join(reversed(a), reversed(b))), true
+	return meet(a, b), true
 }
+
+func meet(a, b []int64) []int64 { return reversed(join(reversed(a), reversed(b))) }
 
 // JoinPermutations returns the least permutation that is above both.
 func JoinPermutations(a, b []int64) ([]int64, bool) {

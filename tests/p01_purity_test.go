@@ -24,6 +24,11 @@ func listCalls() map[string]func(a, b []int64) []any {
 		"MeetPermutations":    func(a, b []int64) []any { return result(impl.MeetPermutations(a, b)) },
 		"JoinPermutations":    func(a, b []int64) []any { return result(impl.JoinPermutations(a, b)) },
 		"RankOf":              func(a, _ []int64) []any { return result(impl.RankOf(a)) },
+		"StartLetters":        func(a, _ []int64) []any { return result(impl.StartLetters(a)) },
+		"FinishLetters":       func(a, _ []int64) []any { return result(impl.FinishLetters(a)) },
+		"FlipPermutation":     func(a, _ []int64) []any { return result(impl.FlipPermutation(a)) },
+		"PermutationBraid":    func(a, _ []int64) []any { return result(impl.PermutationBraid(a)) },
+		"LeftWeighted":        func(a, b []int64) []any { return result(impl.LeftWeighted(a, b)) },
 	}
 }
 
@@ -41,6 +46,7 @@ func numberCalls() map[string]func(n, k int64, s string) []any {
 		"SplitWords":          func(_, _ int64, s string) []any { return result(impl.SplitWords(s)) },
 		"IdentityPermutation": func(n, _ int64, _ string) []any { return result(impl.IdentityPermutation(n)) },
 		"ReadBraid":           func(_, _ int64, s string) []any { return result(impl.ReadBraid(s)) },
+		"HalfTwist":           func(n, _ int64, _ string) []any { return result(impl.HalfTwist(n)) },
 		"PermutationAt":       func(n, k int64, _ string) []any { return result(impl.PermutationAt(n, k)) },
 	}
 }
@@ -59,6 +65,19 @@ func braidCalls() map[string]func(a, b impl.Braid, sizes []int64) []any {
 		"DoubleBraid":      func(a, _ impl.Braid, sizes []int64) []any { return result(impl.DoubleBraid(a, sizes)) },
 		"WidenBraid":       func(a, b impl.Braid, _ []int64) []any { return result(impl.WidenBraid(a, b.Strands, 0)) },
 		"BraidText":        func(a, _ impl.Braid, _ []int64) []any { return result(impl.BraidText(a)) },
+		"NormalForm":       func(a, _ impl.Braid, _ []int64) []any { return result(impl.NormalForm(a)) },
+		"EqualBraids":      func(a, b impl.Braid, _ []int64) []any { return result(impl.EqualBraids(a, b)) },
+		"IsTrivial":        func(a, _ impl.Braid, _ []int64) []any { return result(impl.IsTrivial(a)) },
+	}
+}
+
+// normalCalls are calls of all functions that have normal forms as arguments.
+func normalCalls() map[string]func(a, b impl.NormalBraid) []any {
+	return map[string]func(a, b impl.NormalBraid) []any{
+		"ValidNormal":   func(a, _ impl.NormalBraid) []any { return result(impl.ValidNormal(a)) },
+		"SameNormal":    func(a, b impl.NormalBraid) []any { return result(impl.SameNormal(a, b)) },
+		"BraidOfNormal": func(a, _ impl.NormalBraid) []any { return result(impl.BraidOfNormal(a)) },
+		"JoinNormals":   func(a, b impl.NormalBraid) []any { return result(impl.JoinNormals(a, b)) },
 	}
 }
 
@@ -78,6 +97,13 @@ func scribble(values []any) {
 			}
 		case impl.Braid:
 			scribble(result(list.Word))
+		case impl.NormalBraid:
+			scribble(result(list.Factors))
+		case [][]int64:
+			for i := range list[:cap(list)] {
+				scribble(result(list[:cap(list)][i]))
+				list[:cap(list)][i] = []int64{-9}
+			}
 		}
 	}
 }
@@ -132,6 +158,74 @@ func isPureBraidCall(t *testing.T, name string, call func(a, b impl.Braid, sizes
 	if !isUntouched(x, a.Word) || !isUntouched(y, b.Word) || !isUntouched(z, sizes) {
 		t.Errorf("%s: changed or shared %v, %v or %v", name, a, b, sizes)
 	}
+}
+
+func rowsWithSpare(rows [][]int64) [][]int64 {
+	list := make([][]int64, 0, len(rows)+1)
+	for _, row := range rows {
+		list = append(list, withSpare(row))
+	}
+	return append(list, []int64{spareMark})[:len(rows)]
+}
+
+func areRowsUntouched(list, original [][]int64) bool {
+	whole := list[:len(original)+1]
+	return slices.EqualFunc(list, original, isUntouched) && slices.Equal(whole[len(original)], []int64{spareMark})
+}
+
+// shareMemory reports whether a change of one row shows in another one.
+func shareMemory(rows [][]int64) bool {
+	for i := range rows {
+		for k := range rows[i] {
+			before := rows[i][k]
+			others := fmt.Sprint(rows[:i], rows[i+1:])
+			rows[i][k] = -9
+			if fmt.Sprint(rows[:i], rows[i+1:]) != others {
+				return true
+			}
+			rows[i][k] = before
+		}
+	}
+	return false
+}
+
+// P1, for arguments that are normal forms.
+func TestNormalsAreNeitherChangedNorShared(t *testing.T) {
+	forms := append(someNormals(), notNormals()...)
+	for name, call := range normalCalls() {
+		for _, a := range forms {
+			for _, b := range forms {
+				x, y := a, b
+				x.Factors, y.Factors = rowsWithSpare(a.Factors), rowsWithSpare(b.Factors)
+				first := call(x, y)
+				text := fmt.Sprint(first)
+				second := call(x, y)
+				scribble(first)
+				is(t, name, second, text)
+				is(t, name, call(x, y), text)
+				if !areRowsUntouched(x.Factors, a.Factors) || !areRowsUntouched(y.Factors, b.Factors) {
+					t.Errorf("%s: changed or shared %v or %v", name, a, b)
+				}
+			}
+		}
+	}
+}
+
+// One list of factors may be that of both forms, and one permutation may be several factors.
+func TestFactorsThatShareMemory(t *testing.T) {
+	one := []int64{1, 0, 2}
+	factors := [][]int64{one, one, one}
+	for _, power := range []int64{-1, 0, 1} {
+		a := normal(3, power, factors...)
+		joined, code := impl.JoinNormals(a, a)
+		want, wantCode := impl.JoinNormals(normal(3, power, []int64{1, 0, 2}, []int64{1, 0, 2}, []int64{1, 0, 2}), normal(3, power, []int64{1, 0, 2}, []int64{1, 0, 2}, []int64{1, 0, 2}))
+		is(t, "joined", result(joined, code), result(want, wantCode))
+		is(t, "code", code, impl.OK)
+		is(t, "factors share memory", shareMemory(joined.Factors), false)
+		is(t, "untouched", factors, "[[1 0 2] [1 0 2] [1 0 2]]")
+	}
+	form, _ := impl.NormalForm(repeated(12, 1, 40))
+	is(t, "factors of one letter", result(len(form.Factors), shareMemory(form.Factors)), "[40 false]")
 }
 
 // One piece of memory may hold both words, one behind the other, and the sizes.
