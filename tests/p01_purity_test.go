@@ -29,8 +29,17 @@ func listCalls() map[string]func(a, b []int64) []any {
 		"FlipPermutation":     func(a, _ []int64) []any { return result(impl.FlipPermutation(a)) },
 		"PermutationBraid":    func(a, _ []int64) []any { return result(impl.PermutationBraid(a)) },
 		"LeftWeighted":        func(a, b []int64) []any { return result(impl.LeftWeighted(a, b)) },
+		"ValidFree":           func(a, b []int64) []any { return result(impl.ValidFree(freeSize(b), a)) },
+		"FreeReduce":          func(a, b []int64) []any { return result(impl.FreeReduce(freeSize(b), a)) },
+		"FreeInverse":         func(a, b []int64) []any { return result(impl.FreeInverse(freeSize(b), a)) },
+		"FreeJoin":            func(a, b []int64) []any { return result(impl.FreeJoin(3, a, b)) },
+		"FreeCore":            func(a, b []int64) []any { return result(impl.FreeCore(freeSize(b), a)) },
+		"FreeText":            func(a, b []int64) []any { return result(impl.FreeText(freeSize(b), a)) },
 	}
 }
+
+// freeSize makes a number of generators of a list, from one that is too small to one that is too great.
+func freeSize(list []int64) int64 { return min(int64(len(list)), 14) - 1 }
 
 // numberCalls are calls of all functions that have only numbers and texts as arguments.
 func numberCalls() map[string]func(n, k int64, s string) []any {
@@ -48,6 +57,7 @@ func numberCalls() map[string]func(n, k int64, s string) []any {
 		"ReadBraid":           func(_, _ int64, s string) []any { return result(impl.ReadBraid(s)) },
 		"HalfTwist":           func(n, _ int64, _ string) []any { return result(impl.HalfTwist(n)) },
 		"PermutationAt":       func(n, k int64, _ string) []any { return result(impl.PermutationAt(n, k)) },
+		"ReadFree":            func(n, _ int64, s string) []any { return result(impl.ReadFree(n, s)) },
 	}
 }
 
@@ -68,6 +78,28 @@ func braidCalls() map[string]func(a, b impl.Braid, sizes []int64) []any {
 		"NormalForm":       func(a, _ impl.Braid, _ []int64) []any { return result(impl.NormalForm(a)) },
 		"EqualBraids":      func(a, b impl.Braid, _ []int64) []any { return result(impl.EqualBraids(a, b)) },
 		"IsTrivial":        func(a, _ impl.Braid, _ []int64) []any { return result(impl.IsTrivial(a)) },
+		"ArtinAction":      func(a, _ impl.Braid, _ []int64) []any { return result(impl.ArtinAction(a)) },
+		"ArtinEqual":       func(a, b impl.Braid, _ []int64) []any { return result(impl.ArtinEqual(a, b)) },
+		"IsHandle":         func(a, _ impl.Braid, sizes []int64) []any { return result(impl.IsHandle(a, handle(0, len(sizes)))) },
+		"FirstHandle":      func(a, _ impl.Braid, _ []int64) []any { return result(impl.FirstHandle(a)) },
+		"ReduceHandle":     func(a, _ impl.Braid, sizes []int64) []any { return result(impl.ReduceHandle(a, handle(0, len(sizes)))) },
+		"HandleForm":       func(a, _ impl.Braid, sizes []int64) []any { return result(impl.HandleForm(a, int64(len(sizes)))) },
+		"MainLetter":       func(a, _ impl.Braid, _ []int64) []any { return result(impl.MainLetter(a)) },
+		"HandleTrivial":    func(a, _ impl.Braid, sizes []int64) []any { return result(impl.HandleTrivial(a, int64(len(sizes)))) },
+		"HandleEqual":      func(a, b impl.Braid, sizes []int64) []any { return result(impl.HandleEqual(a, b, int64(len(sizes)*9))) },
+		"SignOfBraid":      func(a, _ impl.Braid, sizes []int64) []any { return result(impl.SignOfBraid(a, int64(len(sizes)))) },
+		"CompareBraids": func(a, b impl.Braid, sizes []int64) []any {
+			return result(impl.CompareBraids(a, b, int64(len(sizes)*9)))
+		},
+	}
+}
+
+// imagesCalls are calls of all functions that have images as arguments.
+func imagesCalls() map[string]func(images [][]int64, word []int64) []any {
+	return map[string]func(images [][]int64, word []int64) []any{
+		"ApplyAction":       func(images [][]int64, word []int64) []any { return result(impl.ApplyAction(images, word)) },
+		"IsAction":          func(images [][]int64, _ []int64) []any { return result(impl.IsAction(images)) },
+		"ActionPermutation": func(images [][]int64, _ []int64) []any { return result(impl.ActionPermutation(images)) },
 	}
 }
 
@@ -112,6 +144,7 @@ func scribble(values []any) {
 func TestListsAreNeitherChangedNorShared(t *testing.T) {
 	lists := [][]int64{nil, {}, {0}, {0, 0, 0}, {0, 1}, {1, 0}, {0, 1, 2}, {2, 0, 1}, {1, 2, 0}, {3, 0, 2, 1}, rising(12), falling(12), make([]int64, 1000)}
 	lists = append(lists, notPermutations()...)
+	lists = append(lists, []int64{1, 2, -1}, []int64{1, 2, -2, -1}, []int64{2, -2, 1, -2, -1}, []int64{1, -1})
 	for name, call := range listCalls() {
 		for _, a := range lists {
 			for _, b := range lists {
@@ -132,7 +165,7 @@ func TestListsAreNeitherChangedNorShared(t *testing.T) {
 
 // P1, for arguments that are braids.
 func TestBraidsAreNeitherChangedNorShared(t *testing.T) {
-	braids := append(notBraids(), braid(0), braid(1), braid(3), braid(4, 1, -2, 3), braid(4, 1, 2, -2, -1), braid(4, 1, -1, 2), braid(12, 11), repeated(4, 3, 40))
+	braids := append(notBraids(), braid(0), braid(1), braid(3), braid(4, 1, -2, 3), braid(4, 1, 2, -2, -1), braid(4, 1, -1, 2), braid(12, 11), repeated(4, 3, 40), braid(4, 1, 2, 3, -1, 2, -3))
 	lists := [][]int64{nil, {1}, {0, 0, 0}, {1, 1, 1, 1}, {2, 1, 0, 1}, {4, 4, 4, 4}, {1, 5, 1, 1}, slices.Repeat([]int64{1}, 12)}
 	for name, call := range braidCalls() {
 		for _, a := range braids {
@@ -209,6 +242,40 @@ func TestNormalsAreNeitherChangedNorShared(t *testing.T) {
 			}
 		}
 	}
+}
+
+// P1, for arguments that are images.
+func TestImagesAreNeitherChangedNorShared(t *testing.T) {
+	lists := append(notImages(), nil, [][]int64{{1}}, [][]int64{{2, -1, 1}, {-2}}, [][]int64{{1, 2, -1}, {1}}, [][]int64{{1}, {3}, {-3, 2, 3}}, [][]int64{{}, nil}, [][]int64{copiesOf(1, 20000), {2}})
+	for name, call := range imagesCalls() {
+		for _, images := range lists {
+			for _, word := range [][]int64{nil, {1}, {1, 2}, {2, -1, 1, -2}, {3, 2, 1}, {-1, -1}} {
+				x, y := rowsWithSpare(images), withSpare(word)
+				first := call(x, y)
+				text := fmt.Sprint(first)
+				second := call(x, y)
+				scribble(first)
+				is(t, name, second, text)
+				is(t, name, call(x, y), text)
+				if !areRowsUntouched(x, images) || !isUntouched(y, word) {
+					t.Errorf("%s: changed or shared %v or %v", name, images, word)
+				}
+			}
+		}
+	}
+}
+
+// One piece of memory may hold all images and the word, also as the unused capacity of one another.
+func TestImagesThatShareMemory(t *testing.T) {
+	memory := []int64{1, 2, -1, 1, 1, 2, -1}
+	images := [][]int64{memory[:3], memory[3:4]}
+	is(t, "word of the same memory", result(impl.ApplyAction(images, memory[4:])), "[[1 2 1 -2 -1] 0]")
+	is(t, "one word as the word and as an image", result(impl.ApplyAction(images, images[0])), "[[1 2 1 -2 -1] 0]")
+	is(t, "one word as all images", result(impl.ApplyAction([][]int64{images[0], images[0]}, []int64{1, 2})), "[[1 2 2 -1] 0]")
+	is(t, "one word twice", result(impl.FreeJoin(2, memory[:3], memory[:3])), "[[1 2 2 -1] 0]")
+	is(t, "IsAction", impl.IsAction(images), true)
+	is(t, "ActionPermutation", result(impl.ActionPermutation(images)), "[[1 0] true]")
+	is(t, "memory", memory, "[1 2 -1 1 1 2 -1]")
 }
 
 // One list of factors may be that of both forms, and one permutation may be several factors.
