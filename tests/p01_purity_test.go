@@ -58,6 +58,8 @@ func numberCalls() map[string]func(n, k int64, s string) []any {
 		"HalfTwist":           func(n, _ int64, _ string) []any { return result(impl.HalfTwist(n)) },
 		"PermutationAt":       func(n, k int64, _ string) []any { return result(impl.PermutationAt(n, k)) },
 		"ReadFree":            func(n, _ int64, s string) []any { return result(impl.ReadFree(n, s)) },
+		"NewMachine":          func(n, _ int64, _ string) []any { return result(impl.NewMachine(n)) },
+		"ValidOp":             func(n, k int64, _ string) []any { return result(impl.ValidOp(impl.Op{Kind: n, Rack: k, Carrier: n})) },
 	}
 }
 
@@ -113,6 +115,19 @@ func normalCalls() map[string]func(a, b impl.NormalBraid) []any {
 	}
 }
 
+// machineCalls are calls of all functions that have states of the machine as arguments.
+func machineCalls() map[string]func(a, b impl.Machine, n impl.Needle, o impl.Op) []any {
+	return map[string]func(a, b impl.Machine, n impl.Needle, o impl.Op) []any{
+		"ValidMachine": func(a, _ impl.Machine, _ impl.Needle, _ impl.Op) []any { return result(impl.ValidMachine(a)) },
+		"SameMachine":  func(a, b impl.Machine, _ impl.Needle, _ impl.Op) []any { return result(impl.SameMachine(a, b)) },
+		"PlaceOf":      func(a, _ impl.Machine, n impl.Needle, _ impl.Op) []any { return result(impl.PlaceOf(a, n)) },
+		"FacingOf":     func(a, _ impl.Machine, n impl.Needle, _ impl.Op) []any { return result(impl.FacingOf(a, n)) },
+		"LoopsOn":      func(a, _ impl.Machine, n impl.Needle, _ impl.Op) []any { return result(impl.LoopsOn(a, n)) },
+		"LiveLoops":    func(a, _ impl.Machine, _ impl.Needle, _ impl.Op) []any { return result(impl.LiveLoops(a)) },
+		"StepMachine":  func(a, _ impl.Machine, _ impl.Needle, o impl.Op) []any { return result(impl.StepMachine(a, o)) },
+	}
+}
+
 // scribble overwrites all that a result holds, so that memory shared with it shows.
 func scribble(values []any) {
 	for _, v := range values {
@@ -131,6 +146,8 @@ func scribble(values []any) {
 			scribble(result(list.Word))
 		case impl.NormalBraid:
 			scribble(result(list.Factors))
+		case impl.Machine:
+			scribbleMachine(list)
 		case [][]int64:
 			for i := range list[:cap(list)] {
 				scribble(result(list[:cap(list)][i]))
@@ -263,6 +280,99 @@ func TestImagesAreNeitherChangedNorShared(t *testing.T) {
 			}
 		}
 	}
+}
+
+func machineWithSpare(m impl.Machine) impl.Machine {
+	m.Front, m.Back, m.Dropped = rowsWithSpare(m.Front), rowsWithSpare(m.Back), withSpare(m.Dropped)
+	m.Carriers = append(slices.Clone(m.Carriers), impl.Carrier{At: spareMark})[:len(m.Carriers)]
+	loops := slices.Clone(m.Loops)
+	for i := range loops {
+		loops[i].Parents = withSpare(loops[i].Parents)
+	}
+	m.Loops = append(loops, impl.Info{Kind: spareMark})[:len(m.Loops)]
+	return m
+}
+
+// isMachineUntouched reports whether a state made by machineWithSpare still is what it was.
+func isMachineUntouched(m, original impl.Machine) bool {
+	for i, loop := range m.Loops {
+		if !isUntouched(loop.Parents, original.Loops[i].Parents) {
+			return false
+		}
+	}
+	return isSameByHand(m, original) && areRowsUntouched(m.Front, original.Front) && areRowsUntouched(m.Back, original.Back) && isUntouched(m.Dropped, original.Dropped) &&
+		m.Carriers[:len(m.Carriers)+1][len(m.Carriers)] == impl.Carrier{At: spareMark} && m.Loops[:len(m.Loops)+1][len(m.Loops)].Kind == spareMark
+}
+
+// P1, for arguments that are states of the machine.
+func TestMachinesAreNeitherChangedNorShared(t *testing.T) {
+	machines := append(notMachines(t), newMachine(t, 1), newMachine(t, 24), richMachine(t))
+	for _, c := range harmlessChanges() {
+		machines = append(machines, changed(richMachine(t), c))
+	}
+	for name, call := range machineCalls() {
+		for i, m := range machines {
+			other := machines[(i+1)%len(machines)]
+			for k, o := range append(someOps(), opsOfRichMachine()...) {
+				n := append(allNeedles(), needlesOutside()...)[k]
+				isPureMachineCall(t, name, call, m, other, n, o)
+			}
+		}
+	}
+}
+
+func isPureMachineCall(t *testing.T, name string, call func(a, b impl.Machine, n impl.Needle, o impl.Op) []any, a, b impl.Machine, n impl.Needle, o impl.Op) {
+	t.Helper()
+	x, y := machineWithSpare(a), machineWithSpare(b)
+	first := call(x, y, n, o)
+	text := fmt.Sprint(first)
+	second := call(x, y, n, o)
+	scribble(first)
+	is(t, name, second, text)
+	is(t, name, call(x, y, n, o), text)
+	if !isMachineUntouched(x, a) || !isMachineUntouched(y, b) {
+		t.Errorf("%s: changed or shared %v or %v", name, a, b)
+	}
+}
+
+// P1, for operations.
+func TestOperationsAreNeitherChangedNorShared(t *testing.T) {
+	ops := append(stackOps(onFront(1), 3), splitOp(1, onFront(1), onBack(1), 1), rackOp(1))
+	spare := append(slices.Clone(ops), outOp(1))
+	for width := int64(-1); width <= 25; width++ {
+		for n := range ops {
+			m, count, code := impl.RunMachine(width, spare[:n])
+			text := fmt.Sprint(m, count, code)
+			again, countAgain, codeAgain := impl.RunMachine(width, spare[:n])
+			scribbleMachine(m)
+			is(t, "RunMachine", fmt.Sprint(again, countAgain, codeAgain), text)
+			is(t, "operations", spare, append(slices.Clone(ops), outOp(1)))
+			is(t, "lists that share memory", shareMemory(listsOfMachine(again)), false)
+		}
+	}
+}
+
+// One piece of memory may hold several lists of a state, also as the unused capacity of one another.
+func TestMachinesThatShareMemory(t *testing.T) {
+	memory := []int64{0, 1, 2, 3}
+	m := newMachine(t, 2)
+	m.Carriers[0] = impl.Carrier{In: true}
+	addLoops(&m, 4)
+	m.Front, m.Dropped = [][]int64{memory[:1], memory[1:2]}, memory[2:]
+	m.Back = make([][]int64, 3)[:2]
+	m.Loops[3].Parents, m.Loops[2].Parents = memory[:1], memory[1:2]
+	want := copyOfMachine(m)
+	for _, o := range []impl.Op{tuckOp(1, onFront(0), 1), knitOp(1, onFront(0), 1), splitOp(1, onFront(0), onBack(0), 1), xferOp(onFront(1), onBack(1)), dropOp(onFront(1)), dropOp(onFront(0))} {
+		byHand, _ := stepByHand(want, o)
+		next := stepOf(t, m, o)
+		is(t, fmt.Sprint("StepMachine of ", o), isSameByHand(next, byHand), true)
+		is(t, fmt.Sprint("lists that share memory after ", o), shareMemory(listsOfMachine(next)), false)
+		is(t, "memory", result(memory, isSameByHand(m, want)), "[[0 1 2 3] true]")
+	}
+	rows := make([][]int64, 2)
+	empty := impl.Machine{Width: 2, Front: rows, Back: rows, Carriers: make([]impl.Carrier, 4)}
+	next := stepOf(t, stepOf(t, empty, inOp(1, 1)), knitOp(1, onFront(0), 1))
+	is(t, "one list as both beds", result(next.Front, next.Back, rows), "[[[0] []] [[] []] [[] []]]")
 }
 
 // One piece of memory may hold all images and the word, also as the unused capacity of one another.
