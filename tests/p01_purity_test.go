@@ -60,6 +60,11 @@ func numberCalls() map[string]func(n, k int64, s string) []any {
 		"ReadFree":            func(n, _ int64, s string) []any { return result(impl.ReadFree(n, s)) },
 		"NewMachine":          func(n, _ int64, _ string) []any { return result(impl.NewMachine(n)) },
 		"ValidOp":             func(n, k int64, _ string) []any { return result(impl.ValidOp(impl.Op{Kind: n, Rack: k, Carrier: n})) },
+		"OpText":              func(n, k int64, _ string) []any { return result(impl.OpText(impl.Op{Kind: n, Dir: k, Carrier: k})) },
+		"ReadOp":              func(_, _ int64, s string) []any { return result(impl.ReadOp(s)) },
+		"ReadProgram":         func(_, _ int64, s string) []any { return result(impl.ReadProgram(s)) },
+		"ValidPass":           func(n, k int64, _ string) []any { return result(impl.ValidPass(passOfNumbers(n, k))) },
+		"PassText":            func(n, k int64, _ string) []any { return result(impl.PassText(passOfNumbers(n, k))) },
 	}
 }
 
@@ -128,6 +133,30 @@ func machineCalls() map[string]func(a, b impl.Machine, n impl.Needle, o impl.Op)
 	}
 }
 
+func passOfNumbers(n, k int64) impl.Pass {
+	return impl.Pass{Kind: n, Dir: k, Carrier: k, Rack: k, First: k, Count: n}
+}
+
+// opsCalls are calls of all functions that have lists of operations as arguments.
+func opsCalls() map[string]func(ops []impl.Op, width, k int64) []any {
+	return map[string]func(ops []impl.Op, width, k int64) []any{
+		"RunMachine":    func(ops []impl.Op, width, _ int64) []any { return result(impl.RunMachine(width, ops)) },
+		"ProgramText":   func(ops []impl.Op, width, _ int64) []any { return result(impl.ProgramText(width, ops)) },
+		"CheckProgram":  func(ops []impl.Op, width, _ int64) []any { return result(impl.CheckProgram(width, ops)) },
+		"KindCounts":    func(ops []impl.Op, _, _ int64) []any { return result(impl.KindCounts(ops)) },
+		"CarriersUsed":  func(ops []impl.Op, _, _ int64) []any { return result(impl.CarriersUsed(ops)) },
+		"LeastWidth":    func(ops []impl.Op, _, _ int64) []any { return result(impl.LeastWidth(ops)) },
+		"ShiftProgram":  func(ops []impl.Op, width, k int64) []any { return result(impl.ShiftProgram(width, ops, k)) },
+		"MirrorProgram": func(ops []impl.Op, width, _ int64) []any { return result(impl.MirrorProgram(width, ops)) },
+		"PassesOf":      func(ops []impl.Op, _, _ int64) []any { return result(impl.PassesOf(ops)) },
+		"CountPasses":   func(ops []impl.Op, _, _ int64) []any { return result(impl.CountPasses(ops)) },
+		"PassOf":        func(ops []impl.Op, _, k int64) []any { return result(impl.PassOf(ops, k)) },
+		"SpanOf":        func(ops []impl.Op, width, k int64) []any { return result(impl.SpanOf(ops, passOfNumbers(width, k))) },
+		"ReturnsOf":     func(ops []impl.Op, _, _ int64) []any { return result(impl.ReturnsOf(ops)) },
+		"SortTransfers": func(ops []impl.Op, _, _ int64) []any { return result(impl.SortTransfers(ops)) },
+	}
+}
+
 // scribble overwrites all that a result holds, so that memory shared with it shows.
 func scribble(values []any) {
 	for _, v := range values {
@@ -148,6 +177,14 @@ func scribble(values []any) {
 			scribble(result(list.Factors))
 		case impl.Machine:
 			scribbleMachine(list)
+		case []impl.Op:
+			for i := range list[:cap(list)] {
+				list[:cap(list)][i] = rackOp(spareMark)
+			}
+		case []impl.Pass:
+			for i := range list[:cap(list)] {
+				list[:cap(list)][i] = impl.Pass{Kind: spareMark}
+			}
 		case [][]int64:
 			for i := range list[:cap(list)] {
 				scribble(result(list[:cap(list)][i]))
@@ -352,6 +389,35 @@ func TestOperationsAreNeitherChangedNorShared(t *testing.T) {
 	}
 }
 
+// P1, for arguments that are lists of operations.
+func TestListsOfOperationsAreNeitherChangedNorShared(t *testing.T) {
+	lists := [][]impl.Op{nil, {}, {rackOp(1)}, notOps(), someOps(), opsOfRichMachine(), stackOps(onFront(1), 3), {xferOp(onFront(2), onBack(2)), xferOp(onFront(0), onBack(0)), xferOp(onFront(1), onBack(1))}, slices.Repeat([]impl.Op{dropOp(onBack(1))}, 1501)}
+	for name, call := range opsCalls() {
+		for _, ops := range lists {
+			for _, width := range []int64{-1, 0, 1, 2, 3, 5, 24, 25} {
+				for _, k := range []int64{math.MinInt64, -1, 0, 1, 2, 1500, math.MaxInt64} {
+					isPureOpsCall(t, name, call, ops, width, k)
+				}
+			}
+		}
+	}
+}
+
+func isPureOpsCall(t *testing.T, name string, call func(ops []impl.Op, width, k int64) []any, ops []impl.Op, width, k int64) {
+	t.Helper()
+	marked := append(slices.Clone(ops), rackOp(spareMark), rackOp(spareMark))
+	x := marked[:len(ops)]
+	first := call(x, width, k)
+	text := fmt.Sprint(first)
+	second := call(x, width, k)
+	scribble(first)
+	is(t, name, second, text)
+	is(t, name, call(x, width, k), text)
+	if !slices.Equal(x, ops) || !slices.Equal(marked[len(ops):], []impl.Op{rackOp(spareMark), rackOp(spareMark)}) {
+		t.Errorf("%s: changed or shared %v", name, ops)
+	}
+}
+
 // One piece of memory may hold several lists of a state, also as the unused capacity of one another.
 func TestMachinesThatShareMemory(t *testing.T) {
 	memory := []int64{0, 1, 2, 3}
@@ -430,7 +496,7 @@ func TestOneListAsBothArguments(t *testing.T) {
 // P1, for numbers and texts.
 func TestNumbersAndTexts(t *testing.T) {
 	numbers := []int64{math.MinInt64, -1000000000, -1, 0, 1, 2, 3, 11, 12, 13, 23, 24, 1000000000, math.MaxInt64}
-	texts := []string{"", " ", "\t", "-", "-0", "7", "007", "f1", "b 2", "rib", "\xff\xfe", "a b c", "2:", "3: 1 -2", "3: 3", "3:  1", strings.Repeat("9", 5000), strings.Repeat(" x", 5000)}
+	texts := []string{"", " ", "\t", "-", "-0", "7", "007", "f1", "b 2", "rib", "\xff\xfe", "a b c", "2:", "3: 1 -2", "3: 3", "3:  1", "knit > f3 1", "rack 9", "width 4\nin > 1\nknit > f0 1\n", "width 4\nknit", strings.Repeat("\n", 2000), strings.Repeat("9", 5000), strings.Repeat(" x", 5000)}
 	for name, call := range numberCalls() {
 		for _, n := range numbers {
 			for i, s := range texts {
