@@ -160,10 +160,14 @@ func NeedleText(n Needle) string {
 	if !ValidNeedle(n) {
 		return ""
 	}
-	if n.Bed == BdFront {
-		return "f" + Decimal(n.At)
+	return letterOfBed(n.Bed) + Decimal(n.At)
+}
+
+func letterOfBed(bed int64) string {
+	if bed == BdBack {
+		return "b"
 	}
-	return "b" + Decimal(n.At)
+	return "f"
 }
 
 // ReadNeedle returns the needle with a text form.

@@ -65,6 +65,8 @@ func numberCalls() map[string]func(n, k int64, s string) []any {
 		"ReadProgram":         func(_, _ int64, s string) []any { return result(impl.ReadProgram(s)) },
 		"ValidPass":           func(n, k int64, _ string) []any { return result(impl.ValidPass(passOfNumbers(n, k))) },
 		"PassText":            func(n, k int64, _ string) []any { return result(impl.PassText(passOfNumbers(n, k))) },
+		"EventText":           func(n, k int64, _ string) []any { return result(impl.EventText(eventOfNumbers(n, k))) },
+		"ReadEvent":           func(_, _ int64, s string) []any { return result(impl.ReadEvent(s)) },
 	}
 }
 
@@ -87,6 +89,7 @@ func braidCalls() map[string]func(a, b impl.Braid, sizes []int64) []any {
 		"IsTrivial":        func(a, _ impl.Braid, _ []int64) []any { return result(impl.IsTrivial(a)) },
 		"ArtinAction":      func(a, _ impl.Braid, _ []int64) []any { return result(impl.ArtinAction(a)) },
 		"ArtinEqual":       func(a, b impl.Braid, _ []int64) []any { return result(impl.ArtinEqual(a, b)) },
+		"BraidEvents":      func(a, _ impl.Braid, _ []int64) []any { return result(impl.BraidEvents(a)) },
 		"IsHandle":         func(a, _ impl.Braid, sizes []int64) []any { return result(impl.IsHandle(a, handle(0, len(sizes)))) },
 		"FirstHandle":      func(a, _ impl.Braid, _ []int64) []any { return result(impl.FirstHandle(a)) },
 		"ReduceHandle":     func(a, _ impl.Braid, sizes []int64) []any { return result(impl.ReduceHandle(a, handle(0, len(sizes)))) },
@@ -130,7 +133,23 @@ func machineCalls() map[string]func(a, b impl.Machine, n impl.Needle, o impl.Op)
 		"LoopsOn":      func(a, _ impl.Machine, n impl.Needle, _ impl.Op) []any { return result(impl.LoopsOn(a, n)) },
 		"LiveLoops":    func(a, _ impl.Machine, _ impl.Needle, _ impl.Op) []any { return result(impl.LiveLoops(a)) },
 		"StepMachine":  func(a, _ impl.Machine, _ impl.Needle, o impl.Op) []any { return result(impl.StepMachine(a, o)) },
+		"OpEvents":     func(a, _ impl.Machine, _ impl.Needle, o impl.Op) []any { return result(impl.OpEvents(a, o)) },
 	}
+}
+
+// eventsCalls are calls of all functions that have lists of events as arguments.
+func eventsCalls() map[string]func(a, b []impl.Event, strands int64) []any {
+	return map[string]func(a, b []impl.Event, strands int64) []any{
+		"ValidEvents":   func(a, _ []impl.Event, _ int64) []any { return result(impl.ValidEvents(a)) },
+		"SameEvents":    func(a, b []impl.Event, _ int64) []any { return result(impl.SameEvents(a, b)) },
+		"StrandsOf":     func(a, _ []impl.Event, _ int64) []any { return result(impl.StrandsOf(a)) },
+		"StitchesOf":    func(a, _ []impl.Event, _ int64) []any { return result(impl.StitchesOf(a)) },
+		"CrossingBraid": func(a, _ []impl.Event, strands int64) []any { return result(impl.CrossingBraid(strands, a)) },
+	}
+}
+
+func eventOfNumbers(n, k int64) impl.Event {
+	return impl.Event{Kind: n, Place: k, Count: n, Bed: k, Carrier: k, Dir: k}
 }
 
 func passOfNumbers(n, k int64) impl.Pass {
@@ -154,6 +173,7 @@ func opsCalls() map[string]func(ops []impl.Op, width, k int64) []any {
 		"SpanOf":        func(ops []impl.Op, width, k int64) []any { return result(impl.SpanOf(ops, passOfNumbers(width, k))) },
 		"ReturnsOf":     func(ops []impl.Op, _, _ int64) []any { return result(impl.ReturnsOf(ops)) },
 		"SortTransfers": func(ops []impl.Op, _, _ int64) []any { return result(impl.SortTransfers(ops)) },
+		"TraceOf":       func(ops []impl.Op, width, _ int64) []any { return result(impl.TraceOf(width, ops)) },
 	}
 }
 
@@ -180,6 +200,10 @@ func scribble(values []any) {
 		case []impl.Op:
 			for i := range list[:cap(list)] {
 				list[:cap(list)][i] = rackOp(spareMark)
+			}
+		case []impl.Event:
+			for i := range list[:cap(list)] {
+				list[:cap(list)][i] = impl.Event{Kind: spareMark}
 			}
 		case []impl.Pass:
 			for i := range list[:cap(list)] {
@@ -418,6 +442,36 @@ func isPureOpsCall(t *testing.T, name string, call func(ops []impl.Op, width, k 
 	}
 }
 
+// P1, for arguments that are lists of events.
+func TestEventsAreNeitherChangedNorShared(t *testing.T) {
+	lists := [][]impl.Event{nil, {}, {{}}, notCrossings(), eventsFor(3), tucks(13), {tuck(0), tuck(1), cross(0, 1), split(1, 0, 2), drop(0, 3)}, {cross(0, 1), cross(1, -1), cross(0, 1)}, slices.Repeat([]impl.Event{cross(0, 1)}, 40), slices.Repeat([]impl.Event{cross(1, -1), {}}, 1001)}
+	for name, call := range eventsCalls() {
+		for i, a := range lists {
+			for _, b := range [][]impl.Event{a, lists[(i+1)%len(lists)]} {
+				for _, strands := range []int64{math.MinInt64, -1, 0, 1, 2, 3, 12, 13, math.MaxInt64} {
+					isPureEventsCall(t, name, call, a, b, strands)
+				}
+			}
+		}
+	}
+}
+
+func isPureEventsCall(t *testing.T, name string, call func(a, b []impl.Event, strands int64) []any, a, b []impl.Event, strands int64) {
+	t.Helper()
+	mark := impl.Event{Kind: spareMark}
+	marked, others := append(slices.Clone(a), mark, mark), append(slices.Clone(b), mark)
+	x, y := marked[:len(a)], others[:len(b)]
+	first := call(x, y, strands)
+	text := fmt.Sprint(first)
+	second := call(x, y, strands)
+	scribble(first)
+	is(t, name, second, text)
+	is(t, name, call(x, y, strands), text)
+	if !slices.Equal(marked, append(slices.Clone(a), mark, mark)) || !slices.Equal(others, append(slices.Clone(b), mark)) {
+		t.Errorf("%s: changed or shared %v or %v", name, a, b)
+	}
+}
+
 // One piece of memory may hold several lists of a state, also as the unused capacity of one another.
 func TestMachinesThatShareMemory(t *testing.T) {
 	memory := []int64{0, 1, 2, 3}
@@ -496,7 +550,7 @@ func TestOneListAsBothArguments(t *testing.T) {
 // P1, for numbers and texts.
 func TestNumbersAndTexts(t *testing.T) {
 	numbers := []int64{math.MinInt64, -1000000000, -1, 0, 1, 2, 3, 11, 12, 13, 23, 24, 1000000000, math.MaxInt64}
-	texts := []string{"", " ", "\t", "-", "-0", "7", "007", "f1", "b 2", "rib", "\xff\xfe", "a b c", "2:", "3: 1 -2", "3: 3", "3:  1", "knit > f3 1", "rack 9", "width 4\nin > 1\nknit > f0 1\n", "width 4\nknit", strings.Repeat("\n", 2000), strings.Repeat("9", 5000), strings.Repeat(" x", 5000)}
+	texts := []string{"", " ", "\t", "-", "-0", "7", "007", "f1", "b 2", "rib", "\xff\xfe", "a b c", "2:", "3: 1 -2", "3: 3", "3:  1", "knit > f3 1", "rack 9", "width 4\nin > 1\nknit > f0 1\n", "width 4\nknit", "knit 2 1 f+1", "cross 0 -1", "split 0 1 b+1", strings.Repeat("\n", 2000), strings.Repeat("9", 5000), strings.Repeat(" x", 5000)}
 	for name, call := range numberCalls() {
 		for _, n := range numbers {
 			for i, s := range texts {
