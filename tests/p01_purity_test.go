@@ -137,6 +137,28 @@ func machineCalls() map[string]func(a, b impl.Machine, n impl.Needle, o impl.Op)
 	}
 }
 
+// fabricCalls are calls of all functions that have a state of the machine and at most one number as arguments.
+func fabricCalls() map[string]func(m impl.Machine, n int64) []any {
+	return map[string]func(m impl.Machine, n int64) []any{
+		"LoopState":      func(m impl.Machine, n int64) []any { return result(impl.LoopState(m, n)) },
+		"ChildrenOf":     func(m impl.Machine, n int64) []any { return result(impl.ChildrenOf(m, n)) },
+		"YarnOf":         func(m impl.Machine, n int64) []any { return result(impl.YarnOf(m, n)) },
+		"YarnNeighbours": func(m impl.Machine, n int64) []any { return result(impl.YarnNeighbours(m, n)) },
+		"CourseOf":       func(m impl.Machine, n int64) []any { return result(impl.CourseOf(m, n)) },
+		"WaleOf":         func(m impl.Machine, n int64) []any { return result(impl.WaleOf(m, n)) },
+		"WalesOf":        func(m impl.Machine, _ int64) []any { return result(impl.WalesOf(m)) },
+		"FabricCounts":   func(m impl.Machine, _ int64) []any { return result(impl.FabricCounts(m)) },
+		"LoopsText":      func(m impl.Machine, _ int64) []any { return result(impl.LoopsText(m)) },
+		"Undone":         func(m impl.Machine, _ int64) []any { return result(impl.Undone(m)) },
+		"IsSecure":       func(m impl.Machine, _ int64) []any { return result(impl.IsSecure(m)) },
+		"RunOf":          func(m impl.Machine, n int64) []any { return result(impl.RunOf(m, n)) },
+		"LadderOf":       func(m impl.Machine, n int64) []any { return result(impl.LadderOf(m, n)) },
+		"WeakLoops":      func(m impl.Machine, _ int64) []any { return result(impl.WeakLoops(m)) },
+		"Unknit":         func(m impl.Machine, _ int64) []any { return result(impl.Unknit(m)) },
+		"UnknitTo":       func(m impl.Machine, n int64) []any { return result(impl.UnknitTo(m, n)) },
+	}
+}
+
 // eventsCalls are calls of all functions that have lists of events as arguments.
 func eventsCalls() map[string]func(a, b []impl.Event, strands int64) []any {
 	return map[string]func(a, b []impl.Event, strands int64) []any{
@@ -393,6 +415,32 @@ func isPureMachineCall(t *testing.T, name string, call func(a, b impl.Machine, n
 	is(t, name, call(x, y, n, o), text)
 	if !isMachineUntouched(x, a) || !isMachineUntouched(y, b) {
 		t.Errorf("%s: changed or shared %v or %v", name, a, b)
+	}
+}
+
+// P1, for arguments that are states of the machine, and a loop, a carrier or a number of loops.
+func TestFabricsAreNeitherChangedNorShared(t *testing.T) {
+	machines := slices.Concat(notMachines(t), someFabrics(t), []impl.Machine{stateGraph(t), chain(t, 300), mesh(t, 300), machineAfter(t, 4, swatchOps(4, 5))})
+	for name, call := range fabricCalls() {
+		for _, m := range machines {
+			for _, n := range append(wrongLoops(m), 0, 1, 4, 5, int64(len(m.Loops))/2, int64(len(m.Loops))-3) {
+				isPureFabricCall(t, name, call, m, n)
+			}
+		}
+	}
+}
+
+func isPureFabricCall(t *testing.T, name string, call func(m impl.Machine, n int64) []any, m impl.Machine, n int64) {
+	t.Helper()
+	x := machineWithSpare(m)
+	first := call(x, n)
+	text := fmt.Sprint(first)
+	second := call(x, n)
+	scribble(first)
+	is(t, name, second, text)
+	is(t, name, call(x, n), text)
+	if !isMachineUntouched(x, m) {
+		t.Errorf("%s: changed or shared %v", name, m)
 	}
 }
 
