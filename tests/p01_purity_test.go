@@ -162,11 +162,32 @@ func fabricCalls() map[string]func(m impl.Machine, n int64) []any {
 // eventsCalls are calls of all functions that have lists of events as arguments.
 func eventsCalls() map[string]func(a, b []impl.Event, strands int64) []any {
 	return map[string]func(a, b []impl.Event, strands int64) []any{
-		"ValidEvents":   func(a, _ []impl.Event, _ int64) []any { return result(impl.ValidEvents(a)) },
-		"SameEvents":    func(a, b []impl.Event, _ int64) []any { return result(impl.SameEvents(a, b)) },
-		"StrandsOf":     func(a, _ []impl.Event, _ int64) []any { return result(impl.StrandsOf(a)) },
-		"StitchesOf":    func(a, _ []impl.Event, _ int64) []any { return result(impl.StitchesOf(a)) },
-		"CrossingBraid": func(a, _ []impl.Event, strands int64) []any { return result(impl.CrossingBraid(strands, a)) },
+		"ValidEvents":     func(a, _ []impl.Event, _ int64) []any { return result(impl.ValidEvents(a)) },
+		"SameEvents":      func(a, b []impl.Event, _ int64) []any { return result(impl.SameEvents(a, b)) },
+		"StrandsOf":       func(a, _ []impl.Event, _ int64) []any { return result(impl.StrandsOf(a)) },
+		"StitchesOf":      func(a, _ []impl.Event, _ int64) []any { return result(impl.StitchesOf(a)) },
+		"CrossingBraid":   func(a, _ []impl.Event, strands int64) []any { return result(impl.CrossingBraid(strands, a)) },
+		"BlocksOf":        func(a, _ []impl.Event, _ int64) []any { return result(impl.BlocksOf(a)) },
+		"SameFabric":      func(a, b []impl.Event, _ int64) []any { return result(impl.SameFabric(a, b)) },
+		"FirstDifference": func(a, b []impl.Event, _ int64) []any { return result(impl.FirstDifference(a, b)) },
+		"MirrorEvents":    func(a, _ []impl.Event, _ int64) []any { return result(impl.MirrorEvents(a)) },
+		"ReduceEvents":    func(a, _ []impl.Event, _ int64) []any { return result(impl.ReduceEvents(a)) },
+		"FabricText":      func(a, _ []impl.Event, _ int64) []any { return result(impl.FabricText(a)) },
+	}
+}
+
+// blocksCalls are calls of all functions that have blocks as arguments. EqualBlocks is called for the blocks with the same numbers.
+func blocksCalls() map[string]func(a, b []impl.Block) []any {
+	return map[string]func(a, b []impl.Block) []any{
+		"EventsOfBlocks": func(a, _ []impl.Block) []any { return result(impl.EventsOfBlocks(a)) },
+		"SameBlocks":     func(a, b []impl.Block) []any { return result(impl.SameBlocks(a, b)) },
+		"EqualBlocks": func(a, b []impl.Block) []any {
+			values := []any{}
+			for i := range min(len(a), len(b)) {
+				values = append(values, impl.EqualBlocks(a[i], b[i]))
+			}
+			return values
+		},
 	}
 }
 
@@ -227,6 +248,11 @@ func scribble(values []any) {
 			for i := range list[:cap(list)] {
 				list[:cap(list)][i] = impl.Event{Kind: spareMark}
 			}
+		case []impl.Block:
+			for i, b := range list[:cap(list)] {
+				scribbleBlock(b)
+				list[:cap(list)][i] = impl.Block{Braid: impl.Braid{Strands: spareMark}}
+			}
 		case []impl.Pass:
 			for i := range list[:cap(list)] {
 				list[:cap(list)][i] = impl.Pass{Kind: spareMark}
@@ -240,6 +266,17 @@ func scribble(values []any) {
 	}
 }
 
+// isPure checks that a call returns the same again and again, also after all that its first result holds has been overwritten.
+func isPure(t *testing.T, name string, call func() []any) {
+	t.Helper()
+	first := call()
+	text := fmt.Sprint(first)
+	second := call()
+	scribble(first)
+	is(t, name, second, text)
+	is(t, name, call(), text)
+}
+
 // P1, for arguments that are slices.
 func TestListsAreNeitherChangedNorShared(t *testing.T) {
 	lists := [][]int64{nil, {}, {0}, {0, 0, 0}, {0, 1}, {1, 0}, {0, 1, 2}, {2, 0, 1}, {1, 2, 0}, {3, 0, 2, 1}, rising(12), falling(12), make([]int64, 1000)}
@@ -249,12 +286,7 @@ func TestListsAreNeitherChangedNorShared(t *testing.T) {
 		for _, a := range lists {
 			for _, b := range lists {
 				x, y := withSpare(a), withSpare(b)
-				first := call(x, y)
-				text := fmt.Sprint(first)
-				again := call(x, y)
-				scribble(first)
-				is(t, name, again, text)
-				is(t, name, call(x, y), text)
+				isPure(t, name, func() []any { return call(x, y) })
 				if !isUntouched(x, a) || !isUntouched(y, b) {
 					t.Errorf("%s: changed or shared %v or %v", name, a, b)
 				}
@@ -281,13 +313,7 @@ func TestBraidsAreNeitherChangedNorShared(t *testing.T) {
 func isPureBraidCall(t *testing.T, name string, call func(a, b impl.Braid, sizes []int64) []any, a, b impl.Braid, sizes []int64) {
 	t.Helper()
 	x, y, z := withSpare(a.Word), withSpare(b.Word), withSpare(sizes)
-	again := func() []any { return call(braid(a.Strands, x...), braid(b.Strands, y...), z) }
-	first := again()
-	text := fmt.Sprint(first)
-	second := again()
-	scribble(first)
-	is(t, name, second, text)
-	is(t, name, again(), text)
+	isPure(t, name, func() []any { return call(braid(a.Strands, x...), braid(b.Strands, y...), z) })
 	if !isUntouched(x, a.Word) || !isUntouched(y, b.Word) || !isUntouched(z, sizes) {
 		t.Errorf("%s: changed or shared %v, %v or %v", name, a, b, sizes)
 	}
@@ -330,12 +356,7 @@ func TestNormalsAreNeitherChangedNorShared(t *testing.T) {
 			for _, b := range forms {
 				x, y := a, b
 				x.Factors, y.Factors = rowsWithSpare(a.Factors), rowsWithSpare(b.Factors)
-				first := call(x, y)
-				text := fmt.Sprint(first)
-				second := call(x, y)
-				scribble(first)
-				is(t, name, second, text)
-				is(t, name, call(x, y), text)
+				isPure(t, name, func() []any { return call(x, y) })
 				if !areRowsUntouched(x.Factors, a.Factors) || !areRowsUntouched(y.Factors, b.Factors) {
 					t.Errorf("%s: changed or shared %v or %v", name, a, b)
 				}
@@ -351,12 +372,7 @@ func TestImagesAreNeitherChangedNorShared(t *testing.T) {
 		for _, images := range lists {
 			for _, word := range [][]int64{nil, {1}, {1, 2}, {2, -1, 1, -2}, {3, 2, 1}, {-1, -1}} {
 				x, y := rowsWithSpare(images), withSpare(word)
-				first := call(x, y)
-				text := fmt.Sprint(first)
-				second := call(x, y)
-				scribble(first)
-				is(t, name, second, text)
-				is(t, name, call(x, y), text)
+				isPure(t, name, func() []any { return call(x, y) })
 				if !areRowsUntouched(x, images) || !isUntouched(y, word) {
 					t.Errorf("%s: changed or shared %v or %v", name, images, word)
 				}
@@ -407,12 +423,7 @@ func TestMachinesAreNeitherChangedNorShared(t *testing.T) {
 func isPureMachineCall(t *testing.T, name string, call func(a, b impl.Machine, n impl.Needle, o impl.Op) []any, a, b impl.Machine, n impl.Needle, o impl.Op) {
 	t.Helper()
 	x, y := machineWithSpare(a), machineWithSpare(b)
-	first := call(x, y, n, o)
-	text := fmt.Sprint(first)
-	second := call(x, y, n, o)
-	scribble(first)
-	is(t, name, second, text)
-	is(t, name, call(x, y, n, o), text)
+	isPure(t, name, func() []any { return call(x, y, n, o) })
 	if !isMachineUntouched(x, a) || !isMachineUntouched(y, b) {
 		t.Errorf("%s: changed or shared %v or %v", name, a, b)
 	}
@@ -433,12 +444,7 @@ func TestFabricsAreNeitherChangedNorShared(t *testing.T) {
 func isPureFabricCall(t *testing.T, name string, call func(m impl.Machine, n int64) []any, m impl.Machine, n int64) {
 	t.Helper()
 	x := machineWithSpare(m)
-	first := call(x, n)
-	text := fmt.Sprint(first)
-	second := call(x, n)
-	scribble(first)
-	is(t, name, second, text)
-	is(t, name, call(x, n), text)
+	isPure(t, name, func() []any { return call(x, n) })
 	if !isMachineUntouched(x, m) {
 		t.Errorf("%s: changed or shared %v", name, m)
 	}
@@ -479,12 +485,7 @@ func isPureOpsCall(t *testing.T, name string, call func(ops []impl.Op, width, k 
 	t.Helper()
 	marked := append(slices.Clone(ops), rackOp(spareMark), rackOp(spareMark))
 	x := marked[:len(ops)]
-	first := call(x, width, k)
-	text := fmt.Sprint(first)
-	second := call(x, width, k)
-	scribble(first)
-	is(t, name, second, text)
-	is(t, name, call(x, width, k), text)
+	isPure(t, name, func() []any { return call(x, width, k) })
 	if !slices.Equal(x, ops) || !slices.Equal(marked[len(ops):], []impl.Op{rackOp(spareMark), rackOp(spareMark)}) {
 		t.Errorf("%s: changed or shared %v", name, ops)
 	}
@@ -493,6 +494,10 @@ func isPureOpsCall(t *testing.T, name string, call func(ops []impl.Op, width, k 
 // P1, for arguments that are lists of events.
 func TestEventsAreNeitherChangedNorShared(t *testing.T) {
 	lists := [][]impl.Event{nil, {}, {{}}, notCrossings(), eventsFor(3), tucks(13), {tuck(0), tuck(1), cross(0, 1), split(1, 0, 2), drop(0, 3)}, {cross(0, 1), cross(1, -1), cross(0, 1)}, slices.Repeat([]impl.Event{cross(0, 1)}, 40), slices.Repeat([]impl.Event{cross(1, -1), {}}, 1001)}
+	for seed := range 6 {
+		d := dice(seed)
+		lists = append(lists, d.fabricEvents(seed), d.mirrorableEvents(seed))
+	}
 	for name, call := range eventsCalls() {
 		for i, a := range lists {
 			for _, b := range [][]impl.Event{a, lists[(i+1)%len(lists)]} {
@@ -509,14 +514,53 @@ func isPureEventsCall(t *testing.T, name string, call func(a, b []impl.Event, st
 	mark := impl.Event{Kind: spareMark}
 	marked, others := append(slices.Clone(a), mark, mark), append(slices.Clone(b), mark)
 	x, y := marked[:len(a)], others[:len(b)]
-	first := call(x, y, strands)
-	text := fmt.Sprint(first)
-	second := call(x, y, strands)
-	scribble(first)
-	is(t, name, second, text)
-	is(t, name, call(x, y, strands), text)
+	isPure(t, name, func() []any { return call(x, y, strands) })
 	if !slices.Equal(marked, append(slices.Clone(a), mark, mark)) || !slices.Equal(others, append(slices.Clone(b), mark)) {
 		t.Errorf("%s: changed or shared %v or %v", name, a, b)
+	}
+}
+
+func blocksWithSpare(list []impl.Block) []impl.Block {
+	marked := make([]impl.Block, 0, len(list)+1)
+	for _, b := range list {
+		stitches := append(slices.Clone(b.Stitches), impl.Event{Kind: spareMark})[:len(b.Stitches)]
+		marked = append(marked, block(braid(b.Braid.Strands, withSpare(b.Braid.Word)...), stitches...))
+	}
+	return append(marked, block(braid(spareMark)))[:len(list)]
+}
+
+// areBlocksUntouched reports whether a list made by blocksWithSpare still is what it was.
+func areBlocksUntouched(list, original []impl.Block) bool {
+	for i, b := range list {
+		stitches := b.Stitches[:len(b.Stitches)+1]
+		if b.Braid.Strands != original[i].Braid.Strands || !isUntouched(b.Braid.Word, original[i].Braid.Word) ||
+			!slices.Equal(b.Stitches, original[i].Stitches) || stitches[len(b.Stitches)] != (impl.Event{Kind: spareMark}) {
+			return false
+		}
+	}
+	return len(list) == len(original) && list[:len(list)+1][len(list)].Braid.Strands == spareMark
+}
+
+// P1, for arguments that are blocks.
+func TestBlocksAreNeitherChangedNorShared(t *testing.T) {
+	lists := [][]impl.Block{nil, {}, {{}}, {block(braid(0), tucks(3)...), block(braid(3, 1, -1, 2), knit(0, 2)), block(braid(2, 1))}, {block(braid(2, 5), cross(0, 1))}, slices.Repeat([]impl.Block{block(braid(0))}, 61), {block(braid(0), slices.Repeat(append(tucks(2), drop(0, 2)), 700)...)}}
+	for _, b := range notBraids() {
+		lists = append(lists, []impl.Block{block(braid(0), tucks(2)...), block(b, knit(0, 1))})
+	}
+	for seed := range 6 {
+		d := dice(seed)
+		lists = append(lists, d.blocks(seed))
+	}
+	for name, call := range blocksCalls() {
+		for _, a := range lists {
+			for _, b := range lists {
+				x, y := blocksWithSpare(a), blocksWithSpare(b)
+				isPure(t, name, func() []any { return call(x, y) })
+				if !areBlocksUntouched(x, a) || !areBlocksUntouched(y, b) {
+					t.Errorf("%s: changed or shared %v or %v", name, a, b)
+				}
+			}
+		}
 	}
 }
 
