@@ -35,6 +35,11 @@ func listCalls() map[string]func(a, b []int64) []any {
 		"FreeJoin":            func(a, b []int64) []any { return result(impl.FreeJoin(3, a, b)) },
 		"FreeCore":            func(a, b []int64) []any { return result(impl.FreeCore(freeSize(b), a)) },
 		"FreeText":            func(a, b []int64) []any { return result(impl.FreeText(freeSize(b), a)) },
+		"StitchesText":        func(a, _ []int64) []any { return result(impl.StitchesText(a)) },
+		"TakenBy":             func(a, _ []int64) []any { return result(impl.TakenBy(a)) },
+		"MadeBy":              func(a, _ []int64) []any { return result(impl.MadeBy(a)) },
+		"StacksAfter":         func(a, b []int64) []any { return result(impl.StacksAfter(a, b)) },
+		"ValidRow":            func(a, _ []int64) []any { return result(impl.ValidRow(impl.Row{Dir: 1, Carrier: 1, Stitches: a})) },
 	}
 }
 
@@ -67,6 +72,13 @@ func numberCalls() map[string]func(n, k int64, s string) []any {
 		"PassText":            func(n, k int64, _ string) []any { return result(impl.PassText(passOfNumbers(n, k))) },
 		"EventText":           func(n, k int64, _ string) []any { return result(impl.EventText(eventOfNumbers(n, k))) },
 		"ReadEvent":           func(_, _ int64, s string) []any { return result(impl.ReadEvent(s)) },
+		"ColumnsTaken":        func(n, _ int64, _ string) []any { return result(impl.ColumnsTaken(n)) },
+		"ColumnsMade":         func(n, _ int64, _ string) []any { return result(impl.ColumnsMade(n)) },
+		"SymbolOf":            func(n, _ int64, _ string) []any { return result(impl.SymbolOf(n)) },
+		"KindOf":              func(_, _ int64, s string) []any { return result(impl.KindOf(s)) },
+		"MirrorStitch":        func(n, _ int64, _ string) []any { return result(impl.MirrorStitch(n)) },
+		"ReadStitches":        func(_, _ int64, s string) []any { return result(impl.ReadStitches(s)) },
+		"ReadChart":           func(_, _ int64, s string) []any { return result(impl.ReadChart(s)) },
 	}
 }
 
@@ -191,6 +203,21 @@ func blocksCalls() map[string]func(a, b []impl.Block) []any {
 	}
 }
 
+// chartCalls are calls of all functions that have charts as arguments.
+func chartCalls() map[string]func(a, b impl.Chart, n int64) []any {
+	return map[string]func(a, b impl.Chart, n int64) []any{
+		"ValidChart":   func(a, _ impl.Chart, _ int64) []any { return result(impl.ValidChart(a)) },
+		"SameChart":    func(a, b impl.Chart, _ int64) []any { return result(impl.SameChart(a, b)) },
+		"ColumnsAfter": func(a, _ impl.Chart, _ int64) []any { return result(impl.ColumnsAfter(a)) },
+		"StacksOf":     func(a, _ impl.Chart, _ int64) []any { return result(impl.StacksOf(a)) },
+		"ChartText":    func(a, _ impl.Chart, _ int64) []any { return result(impl.ChartText(a)) },
+		"MirrorChart":  func(a, _ impl.Chart, _ int64) []any { return result(impl.MirrorChart(a)) },
+		"StackCharts":  func(a, b impl.Chart, _ int64) []any { return result(impl.StackCharts(a, b)) },
+		"RepeatChart":  func(a, _ impl.Chart, n int64) []any { return result(impl.RepeatChart(a, n)) },
+		"BesideCharts": func(a, b impl.Chart, _ int64) []any { return result(impl.BesideCharts(a, b)) },
+	}
+}
+
 func eventOfNumbers(n, k int64) impl.Event {
 	return impl.Event{Kind: n, Place: k, Count: n, Bed: k, Carrier: k, Dir: k}
 }
@@ -257,6 +284,11 @@ func scribble(values []any) {
 			for i := range list[:cap(list)] {
 				list[:cap(list)][i] = impl.Pass{Kind: spareMark}
 			}
+		case impl.Chart:
+			for i, r := range list.Rows[:cap(list.Rows)] {
+				scribble(result(r.Stitches))
+				list.Rows[:cap(list.Rows)][i] = impl.Row{Dir: spareMark}
+			}
 		case [][]int64:
 			for i := range list[:cap(list)] {
 				scribble(result(list[:cap(list)][i]))
@@ -281,7 +313,7 @@ func isPure(t *testing.T, name string, call func() []any) {
 func TestListsAreNeitherChangedNorShared(t *testing.T) {
 	lists := [][]int64{nil, {}, {0}, {0, 0, 0}, {0, 1}, {1, 0}, {0, 1, 2}, {2, 0, 1}, {1, 2, 0}, {3, 0, 2, 1}, rising(12), falling(12), make([]int64, 1000)}
 	lists = append(lists, notPermutations()...)
-	lists = append(lists, []int64{1, 2, -1}, []int64{1, 2, -2, -1}, []int64{2, -2, 1, -2, -1}, []int64{1, -1})
+	lists = append(lists, []int64{1, 2, -1}, []int64{1, 2, -2, -1}, []int64{2, -2, 1, -2, -1}, []int64{1, -1}, []int64{1, 1, 1, 2}, []int64{3, 1, 6, 8}, []int64{1, 4}, copiesOf(1, 8), copiesOf(3, 17))
 	for name, call := range listCalls() {
 		for _, a := range lists {
 			for _, b := range lists {
@@ -564,6 +596,68 @@ func TestBlocksAreNeitherChangedNorShared(t *testing.T) {
 	}
 }
 
+func chartWithSpare(c impl.Chart) impl.Chart {
+	rows := make([]impl.Row, 0, len(c.Rows)+1)
+	for _, r := range c.Rows {
+		rows = append(rows, impl.Row{Dir: r.Dir, Carrier: r.Carrier, Stitches: withSpare(r.Stitches)})
+	}
+	return impl.Chart{Columns: c.Columns, Rows: append(rows, impl.Row{Dir: spareMark})[:len(c.Rows)]}
+}
+
+// isChartUntouched reports whether a chart made by chartWithSpare still is what it was.
+func isChartUntouched(c, original impl.Chart) bool {
+	for i, r := range c.Rows {
+		if r.Dir != original.Rows[i].Dir || r.Carrier != original.Rows[i].Carrier || !isUntouched(r.Stitches, original.Rows[i].Stitches) {
+			return false
+		}
+	}
+	return c.Rows[:len(c.Rows)+1][len(c.Rows)].Dir == spareMark
+}
+
+// P1, for arguments that are charts.
+func TestChartsAreNeitherChangedNorShared(t *testing.T) {
+	charts := append(notCharts(t)[:20], manyCharts(t, 24)...)
+	charts = append(charts, chart(t, 4, "> 1 tttt"), chart(t, 4, "> 1 kkkk"), chart(t, 1, "> 1 k"), chart(t, 2, "> 1 tk"), chart(t, 3, "> 1 kxo"), chart(t, 4, "> 1 kdk"), impl.Chart{Columns: 1, Rows: make([]impl.Row, 1000)})
+	for name, call := range chartCalls() {
+		for _, a := range charts {
+			for i, b := range charts {
+				x, y := chartWithSpare(a), chartWithSpare(b)
+				isPure(t, name, func() []any { return call(x, y, int64(i%10)) })
+				if !isChartUntouched(x, a) || !isChartUntouched(y, b) {
+					t.Errorf("%s: changed or shared %v or %v", name, a, b)
+				}
+			}
+		}
+	}
+}
+
+// One piece of memory may hold the stitches of several rows, also as the unused capacity of one another, and both charts.
+func TestChartsThatShareMemory(t *testing.T) {
+	memory := []int64{impl.StKnit, impl.StCross, impl.StPurl, impl.StOver, impl.StLeft}
+	rows := []impl.Row{{Dir: 1, Carrier: 1, Stitches: memory[:2]}, {Dir: 1, Carrier: 1, Stitches: memory[1:3]}, {Dir: -1, Carrier: 1, Stitches: memory[1:3]}}
+	c := impl.Chart{Columns: 3, Rows: rows[:2]}
+	for name, made := range map[string][]any{
+		"mirrored": result(impl.MirrorChart(c)), "stacked": result(impl.StackCharts(c, c)), "stacked on a part": result(impl.StackCharts(c, impl.Chart{Columns: 3, Rows: rows[1:]})),
+		"repeated": result(impl.RepeatChart(c, 4)), "beside": result(impl.BesideCharts(c, c)), "stacks": result(impl.StacksOf(c)),
+	} {
+		is(t, name+" code", made[1], impl.OK)
+		lists, ok := made[0].([][]int64)
+		if made, isChart := made[0].(impl.Chart); isChart {
+			lists, ok = listsOfChart(made), true
+		}
+		is(t, name+" shares memory", result(ok, shareMemory(lists)), "[true false]")
+		scribble(made)
+	}
+	is(t, "memory", result(memory, rows), "[[1 8 2 3 4] [{1 1 [1 8]} {1 1 [8 2]} {-1 1 [8 2]}]]")
+}
+
+// One list may be the stacks and the stitches.
+func TestStacksThatAreStitches(t *testing.T) {
+	list := withSpare([]int64{1, 2, 1})
+	is(t, "one list", result(impl.StacksAfter(list, list)), "[[1 1 1] 0]")
+	is(t, "untouched", isUntouched(list, []int64{1, 2, 1}), true)
+}
+
 // One piece of memory may hold several lists of a state, also as the unused capacity of one another.
 func TestMachinesThatShareMemory(t *testing.T) {
 	memory := []int64{0, 1, 2, 3}
@@ -642,7 +736,7 @@ func TestOneListAsBothArguments(t *testing.T) {
 // P1, for numbers and texts.
 func TestNumbersAndTexts(t *testing.T) {
 	numbers := []int64{math.MinInt64, -1000000000, -1, 0, 1, 2, 3, 11, 12, 13, 23, 24, 1000000000, math.MaxInt64}
-	texts := []string{"", " ", "\t", "-", "-0", "7", "007", "f1", "b 2", "rib", "\xff\xfe", "a b c", "2:", "3: 1 -2", "3: 3", "3:  1", "knit > f3 1", "rack 9", "width 4\nin > 1\nknit > f0 1\n", "width 4\nknit", "knit 2 1 f+1", "cross 0 -1", "split 0 1 b+1", strings.Repeat("\n", 2000), strings.Repeat("9", 5000), strings.Repeat(" x", 5000)}
+	texts := []string{"", " ", "\t", "-", "-0", "7", "007", "f1", "b 2", "rib", "\xff\xfe", "a b c", "2:", "3: 1 -2", "3: 3", "3:  1", "knit > f3 1", "rack 9", "width 4\nin > 1\nknit > f0 1\n", "width 4\nknit", "knit 2 1 f+1", "cross 0 -1", "split 0 1 b+1", "k", "kxo", "XY", "chart 3\n> 1 kxo\n", "chart 1\n> 1 k\n< 2 ot\n", "chart 3\n> 1 kx\n", strings.Repeat("\n", 2000), strings.Repeat("9", 5000), strings.Repeat(" x", 5000)}
 	for name, call := range numberCalls() {
 		for _, n := range numbers {
 			for i, s := range texts {
