@@ -119,7 +119,7 @@ func IsName(s string) bool {
 
 func isSmallLetter(c byte) bool { return within(c, 'a', 'z') }
 
-func isDigit(c byte) bool { return within(c, '0', '9') }
+func isDigit[C byte | rune](c C) bool { return within(c, '0', '9') }
 
 // Decimal returns a number in decimal.
 func Decimal(n int64) string {

@@ -40,6 +40,9 @@ func listCalls() map[string]func(a, b []int64) []any {
 		"MadeBy":              func(a, _ []int64) []any { return result(impl.MadeBy(a)) },
 		"StacksAfter":         func(a, b []int64) []any { return result(impl.StacksAfter(a, b)) },
 		"ValidRow":            func(a, _ []int64) []any { return result(impl.ValidRow(impl.Row{Dir: 1, Carrier: 1, Stitches: a})) },
+		"CompressRow":         func(a, _ []int64) []any { return result(impl.CompressRow(a)) },
+		"RowText":             func(a, _ []int64) []any { return result(impl.RowText(a)) },
+		"ShortRow":            func(a, _ []int64) []any { return result(impl.ShortRow(a)) },
 	}
 }
 
@@ -79,6 +82,8 @@ func numberCalls() map[string]func(n, k int64, s string) []any {
 		"MirrorStitch":        func(n, _ int64, _ string) []any { return result(impl.MirrorStitch(n)) },
 		"ReadStitches":        func(_, _ int64, s string) []any { return result(impl.ReadStitches(s)) },
 		"ReadChart":           func(_, _ int64, s string) []any { return result(impl.ReadChart(s)) },
+		"ReadPieces":          func(_, _ int64, s string) []any { return result(impl.ReadPieces(s)) },
+		"ExpandRow":           func(n, _ int64, s string) []any { return result(impl.ExpandRow(s, n)) },
 	}
 }
 
@@ -218,6 +223,16 @@ func chartCalls() map[string]func(a, b impl.Chart, n int64) []any {
 	}
 }
 
+// piecesCalls are calls of all functions that have lists of pieces as arguments.
+func piecesCalls() map[string]func(list []impl.Piece, columns int64) []any {
+	return map[string]func(list []impl.Piece, columns int64) []any{
+		"ValidPieces":  func(list []impl.Piece, _ int64) []any { return result(impl.ValidPieces(list)) },
+		"PiecesText":   func(list []impl.Piece, _ int64) []any { return result(impl.PiecesText(list)) },
+		"NeedOf":       func(list []impl.Piece, _ int64) []any { return result(impl.NeedOf(list)) },
+		"ExpandPieces": func(list []impl.Piece, columns int64) []any { return result(impl.ExpandPieces(list, columns)) },
+	}
+}
+
 func eventOfNumbers(n, k int64) impl.Event {
 	return impl.Event{Kind: n, Place: k, Count: n, Bed: k, Carrier: k, Dir: k}
 }
@@ -279,6 +294,10 @@ func scribble(values []any) {
 			for i, b := range list[:cap(list)] {
 				scribbleBlock(b)
 				list[:cap(list)][i] = impl.Block{Braid: impl.Braid{Strands: spareMark}}
+			}
+		case []impl.Piece:
+			for i := range list[:cap(list)] {
+				list[:cap(list)][i] = stitchTimes(spareMark, spareMark)
 			}
 		case []impl.Pass:
 			for i := range list[:cap(list)] {
@@ -631,6 +650,26 @@ func TestChartsAreNeitherChangedNorShared(t *testing.T) {
 	}
 }
 
+// P1, for arguments that are lists of pieces.
+func TestPiecesAreNeitherChangedNorShared(t *testing.T) {
+	lists := [][]impl.Piece{nil, {}, {{}}, chainOfGroups(2, 3), chainOfGroups(0, 5), {groupOf(0, math.MaxInt64), stitchTimes(1, 1)}, {groupOf(2, math.MinInt64)}, make([]impl.Piece, 1000), slices.Repeat([]impl.Piece{stitchTimes(1, 1)}, 25), piecesIn("k17"), piecesIn("(k)* (p)*")}
+	for _, text := range append(validTexts(), "k (p k)*", "(o)* k", "k5 (d)* o", "o16 k", "(k)*") {
+		lists = append(lists, piecesIn(text))
+	}
+	mark := stitchTimes(spareMark, spareMark)
+	for name, call := range piecesCalls() {
+		for _, list := range lists {
+			for _, columns := range append(columnsOutside(), 1, 2, 3, 5, 8) {
+				marked := append(slices.Clone(list), mark, mark)
+				isPure(t, name, func() []any { return call(marked[:len(list)], columns) })
+				if !slices.Equal(marked, append(slices.Clone(list), mark, mark)) {
+					t.Errorf("%s: changed or shared %v", name, list)
+				}
+			}
+		}
+	}
+}
+
 // One piece of memory may hold the stitches of several rows, also as the unused capacity of one another, and both charts.
 func TestChartsThatShareMemory(t *testing.T) {
 	memory := []int64{impl.StKnit, impl.StCross, impl.StPurl, impl.StOver, impl.StLeft}
@@ -736,7 +775,7 @@ func TestOneListAsBothArguments(t *testing.T) {
 // P1, for numbers and texts.
 func TestNumbersAndTexts(t *testing.T) {
 	numbers := []int64{math.MinInt64, -1000000000, -1, 0, 1, 2, 3, 11, 12, 13, 23, 24, 1000000000, math.MaxInt64}
-	texts := []string{"", " ", "\t", "-", "-0", "7", "007", "f1", "b 2", "rib", "\xff\xfe", "a b c", "2:", "3: 1 -2", "3: 3", "3:  1", "knit > f3 1", "rack 9", "width 4\nin > 1\nknit > f0 1\n", "width 4\nknit", "knit 2 1 f+1", "cross 0 -1", "split 0 1 b+1", "k", "kxo", "XY", "chart 3\n> 1 kxo\n", "chart 1\n> 1 k\n< 2 ot\n", "chart 3\n> 1 kx\n", strings.Repeat("\n", 2000), strings.Repeat("9", 5000), strings.Repeat(" x", 5000)}
+	texts := []string{"", " ", "\t", "-", "-0", "7", "007", "f1", "b 2", "rib", "\xff\xfe", "a b c", "2:", "3: 1 -2", "3: 3", "3:  1", "knit > f3 1", "rack 9", "width 4\nin > 1\nknit > f0 1\n", "width 4\nknit", "knit 2 1 f+1", "cross 0 -1", "split 0 1 b+1", "k", "kxo", "XY", "chart 3\n> 1 kxo\n", "chart 1\n> 1 k\n< 2 ot\n", "chart 3\n> 1 kx\n", "k (p k)*", "k2 (p o)*3 (d)*", "(k", "k1", "(((o16)*16)*16)*16 k", strings.Repeat("(", 5000), strings.Repeat("\n", 2000), strings.Repeat("9", 5000), strings.Repeat(" x", 5000)}
 	for name, call := range numberCalls() {
 		for _, n := range numbers {
 			for i, s := range texts {
