@@ -43,6 +43,17 @@ func listCalls() map[string]func(a, b []int64) []any {
 		"CompressRow":         func(a, _ []int64) []any { return result(impl.CompressRow(a)) },
 		"RowText":             func(a, _ []int64) []any { return result(impl.RowText(a)) },
 		"ShortRow":            func(a, _ []int64) []any { return result(impl.ShortRow(a)) },
+		"ValidSizes":          func(a, _ []int64) []any { return result(impl.ValidSizes(a)) },
+		"ColumnAt":            func(a, b []int64) []any { return result(impl.ColumnAt(a, int64(len(b)))) },
+		"FirstOf":             func(a, b []int64) []any { return result(impl.FirstOf(a, int64(len(b)))) },
+		"YarnOrder":           func(a, _ []int64) []any { return result(impl.YarnOrder(impl.Row{Dir: -1, Carrier: 1, Stitches: a})) },
+		"HandRow": func(a, b []int64) []any {
+			return result(impl.HandRow(impl.Row{Dir: 1, Carrier: 1, Stitches: a}, b))
+		},
+		"RowLetters":         func(a, _ []int64) []any { return result(impl.RowLetters(impl.Row{Dir: 1, Carrier: 1, Stitches: a})) },
+		"RowBraid":           func(a, b []int64) []any { return result(impl.RowBraid(impl.Row{Dir: 1, Carrier: 1, Stitches: a}, b)) },
+		"RowOfLetters":       func(a, b []int64) []any { return result(impl.RowOfLetters(int64(len(b)), a, 1, 1)) },
+		"ChartOfPermutation": func(a, b []int64) []any { return result(impl.ChartOfPermutation(a, int64(len(b)))) },
 	}
 }
 
@@ -84,6 +95,7 @@ func numberCalls() map[string]func(n, k int64, s string) []any {
 		"ReadChart":           func(_, _ int64, s string) []any { return result(impl.ReadChart(s)) },
 		"ReadPieces":          func(_, _ int64, s string) []any { return result(impl.ReadPieces(s)) },
 		"ExpandRow":           func(n, _ int64, s string) []any { return result(impl.ExpandRow(s, n)) },
+		"HandCastOn":          func(n, k int64, _ string) []any { return result(impl.HandCastOn(n, k)) },
 	}
 }
 
@@ -107,6 +119,8 @@ func braidCalls() map[string]func(a, b impl.Braid, sizes []int64) []any {
 		"ArtinAction":      func(a, _ impl.Braid, _ []int64) []any { return result(impl.ArtinAction(a)) },
 		"ArtinEqual":       func(a, b impl.Braid, _ []int64) []any { return result(impl.ArtinEqual(a, b)) },
 		"BraidEvents":      func(a, _ impl.Braid, _ []int64) []any { return result(impl.BraidEvents(a)) },
+		"PackLetters":      func(a, _ impl.Braid, _ []int64) []any { return result(impl.PackLetters(a)) },
+		"ChartOfBraid":     func(a, _ impl.Braid, sizes []int64) []any { return result(impl.ChartOfBraid(a, int64(len(sizes)))) },
 		"IsHandle":         func(a, _ impl.Braid, sizes []int64) []any { return result(impl.IsHandle(a, handle(0, len(sizes)))) },
 		"FirstHandle":      func(a, _ impl.Braid, _ []int64) []any { return result(impl.FirstHandle(a)) },
 		"ReduceHandle":     func(a, _ impl.Braid, sizes []int64) []any { return result(impl.ReduceHandle(a, handle(0, len(sizes)))) },
@@ -190,6 +204,7 @@ func eventsCalls() map[string]func(a, b []impl.Event, strands int64) []any {
 		"MirrorEvents":    func(a, _ []impl.Event, _ int64) []any { return result(impl.MirrorEvents(a)) },
 		"ReduceEvents":    func(a, _ []impl.Event, _ int64) []any { return result(impl.ReduceEvents(a)) },
 		"FabricText":      func(a, _ []impl.Event, _ int64) []any { return result(impl.FabricText(a)) },
+		"EventCounts":     func(a, _ []impl.Event, _ int64) []any { return result(impl.EventCounts(a)) },
 	}
 }
 
@@ -220,6 +235,10 @@ func chartCalls() map[string]func(a, b impl.Chart, n int64) []any {
 		"StackCharts":  func(a, b impl.Chart, _ int64) []any { return result(impl.StackCharts(a, b)) },
 		"RepeatChart":  func(a, _ impl.Chart, n int64) []any { return result(impl.RepeatChart(a, n)) },
 		"BesideCharts": func(a, b impl.Chart, _ int64) []any { return result(impl.BesideCharts(a, b)) },
+		"HandKnit":     func(a, _ impl.Chart, _ int64) []any { return result(impl.HandKnit(a)) },
+		"IsCable":      func(a, _ impl.Chart, _ int64) []any { return result(impl.IsCable(a)) },
+		"CableBraid":   func(a, _ impl.Chart, _ int64) []any { return result(impl.CableBraid(a)) },
+		"SameCable":    func(a, b impl.Chart, _ int64) []any { return result(impl.SameCable(a, b)) },
 	}
 }
 
@@ -303,6 +322,8 @@ func scribble(values []any) {
 			for i := range list[:cap(list)] {
 				list[:cap(list)][i] = impl.Pass{Kind: spareMark}
 			}
+		case impl.Row:
+			scribble(result(list.Stitches))
 		case impl.Chart:
 			for i, r := range list.Rows[:cap(list.Rows)] {
 				scribble(result(r.Stitches))
@@ -332,7 +353,7 @@ func isPure(t *testing.T, name string, call func() []any) {
 func TestListsAreNeitherChangedNorShared(t *testing.T) {
 	lists := [][]int64{nil, {}, {0}, {0, 0, 0}, {0, 1}, {1, 0}, {0, 1, 2}, {2, 0, 1}, {1, 2, 0}, {3, 0, 2, 1}, rising(12), falling(12), make([]int64, 1000)}
 	lists = append(lists, notPermutations()...)
-	lists = append(lists, []int64{1, 2, -1}, []int64{1, 2, -2, -1}, []int64{2, -2, 1, -2, -1}, []int64{1, -1}, []int64{1, 1, 1, 2}, []int64{3, 1, 6, 8}, []int64{1, 4}, copiesOf(1, 8), copiesOf(3, 17))
+	lists = append(lists, []int64{1, 2, -1}, []int64{1, 2, -2, -1}, []int64{2, -2, 1, -2, -1}, []int64{1, -1}, []int64{1, 1, 1, 2}, []int64{3, 1, 6, 8}, []int64{1, 4}, copiesOf(1, 8), copiesOf(3, 17), []int64{1, 3}, []int64{2, 1, 3}, []int64{8, 7}, []int64{5, 6}, []int64{8, 9, 1, 5, 3})
 	for name, call := range listCalls() {
 		for _, a := range lists {
 			for _, b := range lists {
@@ -636,7 +657,7 @@ func isChartUntouched(c, original impl.Chart) bool {
 // P1, for arguments that are charts.
 func TestChartsAreNeitherChangedNorShared(t *testing.T) {
 	charts := append(notCharts(t)[:20], manyCharts(t, 24)...)
-	charts = append(charts, chart(t, 4, "> 1 tttt"), chart(t, 4, "> 1 kkkk"), chart(t, 1, "> 1 k"), chart(t, 2, "> 1 tk"), chart(t, 3, "> 1 kxo"), chart(t, 4, "> 1 kdk"), impl.Chart{Columns: 1, Rows: make([]impl.Row, 1000)})
+	charts = append(charts, chart(t, 4, "> 1 tttt"), chart(t, 4, "> 1 kkkk"), chart(t, 1, "> 1 k"), chart(t, 2, "> 1 tk"), chart(t, 3, "> 1 kxo"), chart(t, 4, "> 1 kdk"), chart(t, 4, "> 1 X", "< 2 xy"), chart(t, 4, "> 1 Y", "< 2 kyk"), impl.Chart{Columns: 1, Rows: make([]impl.Row, 1000)})
 	for name, call := range chartCalls() {
 		for _, a := range charts {
 			for i, b := range charts {
