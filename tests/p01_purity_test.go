@@ -96,6 +96,7 @@ func numberCalls() map[string]func(n, k int64, s string) []any {
 		"ReadPieces":          func(_, _ int64, s string) []any { return result(impl.ReadPieces(s)) },
 		"ExpandRow":           func(n, _ int64, s string) []any { return result(impl.ExpandRow(s, n)) },
 		"HandCastOn":          func(n, k int64, _ string) []any { return result(impl.HandCastOn(n, k)) },
+		"ReadColours":         func(_, _ int64, s string) []any { return result(impl.ReadColours(s)) },
 	}
 }
 
@@ -252,6 +253,21 @@ func piecesCalls() map[string]func(list []impl.Piece, columns int64) []any {
 	}
 }
 
+// coloursCalls are calls of all functions that have colour charts as arguments.
+func coloursCalls() map[string]func(a, b impl.ColourChart, most int64) []any {
+	return map[string]func(a, b impl.ColourChart, most int64) []any{
+		"ValidColours":   func(a, _ impl.ColourChart, _ int64) []any { return result(impl.ValidColours(a)) },
+		"SameColours":    func(a, b impl.ColourChart, _ int64) []any { return result(impl.SameColours(a, b)) },
+		"ColoursText":    func(a, _ impl.ColourChart, _ int64) []any { return result(impl.ColoursText(a)) },
+		"CountColours":   func(a, _ impl.ColourChart, _ int64) []any { return result(impl.CountColours(a)) },
+		"FloatsOf":       func(a, _ impl.ColourChart, _ int64) []any { return result(impl.FloatsOf(a)) },
+		"LongestFloat":   func(a, _ impl.ColourChart, _ int64) []any { return result(impl.LongestFloat(a)) },
+		"ChartOfColours": func(a, _ impl.ColourChart, _ int64) []any { return result(impl.ChartOfColours(a)) },
+		"CatchFloats":    func(a, _ impl.ColourChart, most int64) []any { return result(impl.CatchFloats(a, most)) },
+		"MirrorColours":  func(a, _ impl.ColourChart, _ int64) []any { return result(impl.MirrorColours(a)) },
+	}
+}
+
 func eventOfNumbers(n, k int64) impl.Event {
 	return impl.Event{Kind: n, Place: k, Count: n, Bed: k, Carrier: k, Dir: k}
 }
@@ -328,6 +344,12 @@ func scribble(values []any) {
 			for i, r := range list.Rows[:cap(list.Rows)] {
 				scribble(result(r.Stitches))
 				list.Rows[:cap(list.Rows)][i] = impl.Row{Dir: spareMark}
+			}
+		case impl.ColourChart:
+			scribble(result(list.Rows))
+		case []impl.Float:
+			for i := range list[:cap(list)] {
+				list[:cap(list)][i] = impl.Float{Row: spareMark}
 			}
 		case [][]int64:
 			for i := range list[:cap(list)] {
@@ -671,6 +693,25 @@ func TestChartsAreNeitherChangedNorShared(t *testing.T) {
 	}
 }
 
+// P1, for arguments that are colour charts.
+func TestColourChartsAreNeitherChangedNorShared(t *testing.T) {
+	charts := append(notColours()[:40], manyColours(40)...)
+	charts = append(charts, colours("12221", "11111"), colours("12341234", "43214321"), colours("34122342"), colours("21111112", "12222221"), colours("907", "x"), impl.ColourChart{Columns: 1, Rows: make([][]int64, 1000)})
+	for name, call := range coloursCalls() {
+		for i, a := range charts {
+			for _, b := range []impl.ColourChart{a, charts[(i+1)%len(charts)]} {
+				for _, most := range []int64{math.MinInt64, -1, 0, 1, 2, 8, 9, math.MaxInt64} {
+					x, y := impl.ColourChart{Columns: a.Columns, Rows: rowsWithSpare(a.Rows)}, impl.ColourChart{Columns: b.Columns, Rows: rowsWithSpare(b.Rows)}
+					isPure(t, name, func() []any { return call(x, y, most) })
+					if !areRowsUntouched(x.Rows, a.Rows) || !areRowsUntouched(y.Rows, b.Rows) {
+						t.Errorf("%s: changed or shared %v or %v", name, a, b)
+					}
+				}
+			}
+		}
+	}
+}
+
 // P1, for arguments that are lists of pieces.
 func TestPiecesAreNeitherChangedNorShared(t *testing.T) {
 	lists := [][]impl.Piece{nil, {}, {{}}, chainOfGroups(2, 3), chainOfGroups(0, 5), {groupOf(0, math.MaxInt64), stitchTimes(1, 1)}, {groupOf(2, math.MinInt64)}, make([]impl.Piece, 1000), slices.Repeat([]impl.Piece{stitchTimes(1, 1)}, 25), piecesIn("k17"), piecesIn("(k)* (p)*")}
@@ -796,7 +837,7 @@ func TestOneListAsBothArguments(t *testing.T) {
 // P1, for numbers and texts.
 func TestNumbersAndTexts(t *testing.T) {
 	numbers := []int64{math.MinInt64, -1000000000, -1, 0, 1, 2, 3, 11, 12, 13, 23, 24, 1000000000, math.MaxInt64}
-	texts := []string{"", " ", "\t", "-", "-0", "7", "007", "f1", "b 2", "rib", "\xff\xfe", "a b c", "2:", "3: 1 -2", "3: 3", "3:  1", "knit > f3 1", "rack 9", "width 4\nin > 1\nknit > f0 1\n", "width 4\nknit", "knit 2 1 f+1", "cross 0 -1", "split 0 1 b+1", "k", "kxo", "XY", "chart 3\n> 1 kxo\n", "chart 1\n> 1 k\n< 2 ot\n", "chart 3\n> 1 kx\n", "k (p k)*", "k2 (p o)*3 (d)*", "(k", "k1", "(((o16)*16)*16)*16 k", strings.Repeat("(", 5000), strings.Repeat("\n", 2000), strings.Repeat("9", 5000), strings.Repeat(" x", 5000)}
+	texts := []string{"", " ", "\t", "-", "-0", "7", "007", "f1", "b 2", "rib", "\xff\xfe", "a b c", "2:", "3: 1 -2", "3: 3", "3:  1", "knit > f3 1", "rack 9", "width 4\nin > 1\nknit > f0 1\n", "width 4\nknit", "knit 2 1 f+1", "cross 0 -1", "split 0 1 b+1", "k", "kxo", "XY", "chart 3\n> 1 kxo\n", "chart 1\n> 1 k\n< 2 ot\n", "chart 3\n> 1 kx\n", "k (p k)*", "k2 (p o)*3 (d)*", "(k", "k1", "(((o16)*16)*16)*16 k", "12221\n11111\n", "1\n", "15\n", strings.Repeat("(", 5000), strings.Repeat("\n", 2000), strings.Repeat("9", 5000), strings.Repeat(" x", 5000)}
 	for name, call := range numberCalls() {
 		for _, n := range numbers {
 			for i, s := range texts {
