@@ -54,6 +54,15 @@ func listCalls() map[string]func(a, b []int64) []any {
 		"RowBraid":           func(a, b []int64) []any { return result(impl.RowBraid(impl.Row{Dir: 1, Carrier: 1, Stitches: a}, b)) },
 		"RowOfLetters":       func(a, b []int64) []any { return result(impl.RowOfLetters(int64(len(b)), a, 1, 1)) },
 		"ChartOfPermutation": func(a, b []int64) []any { return result(impl.ChartOfPermutation(a, int64(len(b)))) },
+		"RowTargets":         func(a, _ []int64) []any { return result(impl.RowTargets(impl.Row{Dir: 1, Carrier: 1, Stitches: a})) },
+		"RowSources":         func(a, _ []int64) []any { return result(impl.RowSources(impl.Row{Dir: 1, Carrier: 1, Stitches: a})) },
+		"RowResults":         func(a, _ []int64) []any { return result(impl.RowResults(impl.Row{Dir: -1, Carrier: 1, Stitches: a})) },
+		"NewColumns":         func(a, _ []int64) []any { return result(impl.NewColumns(impl.Row{Dir: 1, Carrier: 4, Stitches: a})) },
+		"ValidPlaces":        func(a, _ []int64) []any { return result(impl.ValidPlaces(a)) },
+		"PlanMoves":          func(a, b []int64) []any { return result(impl.PlanMoves(a, b)) },
+		"ApplyMove":          func(a, b []int64) []any { return result(impl.ApplyMove(a, move(int64(len(a)), int64(len(b))))) },
+		"MoveColumns":        func(a, b []int64) []any { return result(impl.MoveColumns(a, b)) },
+		"PlaceColumns":       func(a, b []int64) []any { return result(impl.PlaceColumns(a, int64(len(b)))) },
 	}
 }
 
@@ -97,6 +106,9 @@ func numberCalls() map[string]func(n, k int64, s string) []any {
 		"ExpandRow":           func(n, _ int64, s string) []any { return result(impl.ExpandRow(s, n)) },
 		"HandCastOn":          func(n, k int64, _ string) []any { return result(impl.HandCastOn(n, k)) },
 		"ReadColours":         func(_, _ int64, s string) []any { return result(impl.ReadColours(s)) },
+		"NeedleOfColumn":      func(n, _ int64, _ string) []any { return result(impl.NeedleOfColumn(n)) },
+		"ColumnOfNeedle":      func(n, _ int64, _ string) []any { return result(impl.ColumnOfNeedle(n)) },
+		"MoveOps":             func(n, k int64, _ string) []any { return result(impl.MoveOps(move(n, k))) },
 	}
 }
 
@@ -240,6 +252,7 @@ func chartCalls() map[string]func(a, b impl.Chart, n int64) []any {
 		"IsCable":      func(a, _ impl.Chart, _ int64) []any { return result(impl.IsCable(a)) },
 		"CableBraid":   func(a, _ impl.Chart, _ int64) []any { return result(impl.CableBraid(a)) },
 		"SameCable":    func(a, b impl.Chart, _ int64) []any { return result(impl.SameCable(a, b)) },
+		"LayoutWidth":  func(a, _ impl.Chart, _ int64) []any { return result(impl.LayoutWidth(a)) },
 	}
 }
 
@@ -351,6 +364,10 @@ func scribble(values []any) {
 			for i := range list[:cap(list)] {
 				list[:cap(list)][i] = impl.Float{Row: spareMark}
 			}
+		case []impl.Move:
+			for i := range list[:cap(list)] {
+				list[:cap(list)][i] = move(spareMark, spareMark)
+			}
 		case [][]int64:
 			for i := range list[:cap(list)] {
 				scribble(result(list[:cap(list)][i]))
@@ -375,7 +392,7 @@ func isPure(t *testing.T, name string, call func() []any) {
 func TestListsAreNeitherChangedNorShared(t *testing.T) {
 	lists := [][]int64{nil, {}, {0}, {0, 0, 0}, {0, 1}, {1, 0}, {0, 1, 2}, {2, 0, 1}, {1, 2, 0}, {3, 0, 2, 1}, rising(12), falling(12), make([]int64, 1000)}
 	lists = append(lists, notPermutations()...)
-	lists = append(lists, []int64{1, 2, -1}, []int64{1, 2, -2, -1}, []int64{2, -2, 1, -2, -1}, []int64{1, -1}, []int64{1, 1, 1, 2}, []int64{3, 1, 6, 8}, []int64{1, 4}, copiesOf(1, 8), copiesOf(3, 17), []int64{1, 3}, []int64{2, 1, 3}, []int64{8, 7}, []int64{5, 6}, []int64{8, 9, 1, 5, 3})
+	lists = append(lists, []int64{1, 2, -1}, []int64{1, 2, -2, -1}, []int64{2, -2, 1, -2, -1}, []int64{1, -1}, []int64{1, 1, 1, 2}, []int64{3, 1, 6, 8}, []int64{1, 4}, copiesOf(1, 8), copiesOf(3, 17), []int64{1, 3}, []int64{2, 1, 3}, []int64{8, 7}, []int64{5, 6}, []int64{8, 9, 1, 5, 3}, []int64{1, 3, 5, 7}, []int64{1, 5, 5, 7}, []int64{1, 3, 3, 9}, []int64{1, 4, 5, 23}, []int64{1, 5, 9}, []int64{3, 3, 3})
 	for name, call := range listCalls() {
 		for _, a := range lists {
 			for _, b := range lists {
@@ -728,6 +745,18 @@ func TestPiecesAreNeitherChangedNorShared(t *testing.T) {
 					t.Errorf("%s: changed or shared %v", name, list)
 				}
 			}
+		}
+	}
+}
+
+// P1, for arguments that are moves.
+func TestMovesAreNeitherChangedNorShared(t *testing.T) {
+	mark := move(spareMark, spareMark)
+	for _, list := range [][]impl.Move{nil, {}, {{}}, {move(1, 2)}, {move(1, 2), move(5, 2)}, notMoves(), make([]impl.Move, 1000), slices.Repeat([]impl.Move{move(3, 0)}, 1000)} {
+		marked := append(slices.Clone(list), mark, mark)
+		isPure(t, "MoveLength", func() []any { return result(impl.MoveLength(marked[:len(list)])) })
+		if !slices.Equal(marked, append(slices.Clone(list), mark, mark)) {
+			t.Errorf("MoveLength: changed or shared %v", list)
 		}
 	}
 }
