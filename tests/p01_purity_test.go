@@ -63,7 +63,15 @@ func listCalls() map[string]func(a, b []int64) []any {
 		"ApplyMove":          func(a, b []int64) []any { return result(impl.ApplyMove(a, move(int64(len(a)), int64(len(b))))) },
 		"MoveColumns":        func(a, b []int64) []any { return result(impl.MoveColumns(a, b)) },
 		"PlaceColumns":       func(a, b []int64) []any { return result(impl.PlaceColumns(a, int64(len(b)))) },
+		"CheckCrossing": func(a, b []int64) []any {
+			return result(impl.CheckCrossing(a, b, moveAndBack(), braid(int64(len(a)))))
+		},
 	}
+}
+
+// moveAndBack are operations of a column on the front needle 1, which crosses no other one.
+func moveAndBack() []impl.Op {
+	return []impl.Op{xferOp(onFront(1), onBack(1)), rackOp(-1), xferOp(onBack(1), onFront(0)), xferOp(onFront(0), onBack(1)), rackOp(0), xferOp(onBack(1), onFront(1))}
 }
 
 // freeSize makes a number of generators of a list, from one that is too small to one that is too great.
@@ -109,6 +117,9 @@ func numberCalls() map[string]func(n, k int64, s string) []any {
 		"NeedleOfColumn":      func(n, _ int64, _ string) []any { return result(impl.NeedleOfColumn(n)) },
 		"ColumnOfNeedle":      func(n, _ int64, _ string) []any { return result(impl.ColumnOfNeedle(n)) },
 		"MoveOps":             func(n, k int64, _ string) []any { return result(impl.MoveOps(move(n, k))) },
+		"CrossColumns":        func(n, k int64, _ string) []any { return result(impl.CrossColumns(n, k > 0)) },
+		"RackOps":             func(n, k int64, _ string) []any { return result(impl.RackOps(n, k)) },
+		"SwapLetters":         func(n, k int64, _ string) []any { return result(impl.SwapLetters(n, k, 2, n > k)) },
 	}
 }
 
@@ -142,6 +153,11 @@ func braidCalls() map[string]func(a, b impl.Braid, sizes []int64) []any {
 		"HandleTrivial":    func(a, _ impl.Braid, sizes []int64) []any { return result(impl.HandleTrivial(a, int64(len(sizes)))) },
 		"HandleEqual":      func(a, b impl.Braid, sizes []int64) []any { return result(impl.HandleEqual(a, b, int64(len(sizes)*9))) },
 		"SignOfBraid":      func(a, _ impl.Braid, sizes []int64) []any { return result(impl.SignOfBraid(a, int64(len(sizes)))) },
+		"CrossOps":         func(a, _ impl.Braid, sizes []int64) []any { return result(impl.CrossOps(int64(len(sizes)), a)) },
+		"ColumnBraid":      func(a, _ impl.Braid, sizes []int64) []any { return result(impl.ColumnBraid(a, sizes)) },
+		"CheckCrossing": func(a, _ impl.Braid, sizes []int64) []any {
+			return result(impl.CheckCrossing(everySecond(1, len(sizes)), sizes, moveAndBack(), a))
+		},
 		"CompareBraids": func(a, b impl.Braid, sizes []int64) []any {
 			return result(impl.CompareBraids(a, b, int64(len(sizes)*9)))
 		},
@@ -178,6 +194,7 @@ func machineCalls() map[string]func(a, b impl.Machine, n impl.Needle, o impl.Op)
 		"LiveLoops":    func(a, _ impl.Machine, _ impl.Needle, _ impl.Op) []any { return result(impl.LiveLoops(a)) },
 		"StepMachine":  func(a, _ impl.Machine, _ impl.Needle, o impl.Op) []any { return result(impl.StepMachine(a, o)) },
 		"OpEvents":     func(a, _ impl.Machine, _ impl.Needle, o impl.Op) []any { return result(impl.OpEvents(a, o)) },
+		"RackEvents":   func(a, _ impl.Machine, _ impl.Needle, o impl.Op) []any { return result(impl.RackEvents(a, o.Rack)) },
 	}
 }
 
@@ -307,6 +324,9 @@ func opsCalls() map[string]func(ops []impl.Op, width, k int64) []any {
 		"ReturnsOf":     func(ops []impl.Op, _, _ int64) []any { return result(impl.ReturnsOf(ops)) },
 		"SortTransfers": func(ops []impl.Op, _, _ int64) []any { return result(impl.SortTransfers(ops)) },
 		"TraceOf":       func(ops []impl.Op, width, _ int64) []any { return result(impl.TraceOf(width, ops)) },
+		"CheckCrossing": func(ops []impl.Op, _, _ int64) []any {
+			return result(impl.CheckCrossing([]int64{1, 3}, []int64{2, 1}, ops, braid(2)))
+		},
 	}
 }
 
@@ -580,7 +600,7 @@ func TestOperationsAreNeitherChangedNorShared(t *testing.T) {
 
 // P1, for arguments that are lists of operations.
 func TestListsOfOperationsAreNeitherChangedNorShared(t *testing.T) {
-	lists := [][]impl.Op{nil, {}, {rackOp(1)}, notOps(), someOps(), opsOfRichMachine(), stackOps(onFront(1), 3), {xferOp(onFront(2), onBack(2)), xferOp(onFront(0), onBack(0)), xferOp(onFront(1), onBack(1))}, slices.Repeat([]impl.Op{dropOp(onBack(1))}, 1501)}
+	lists := [][]impl.Op{nil, {}, {rackOp(1)}, notOps(), someOps(), opsOfRichMachine(), stackOps(onFront(1), 3), moveAndBack(), {xferOp(onFront(2), onBack(2)), xferOp(onFront(0), onBack(0)), xferOp(onFront(1), onBack(1))}, slices.Repeat([]impl.Op{dropOp(onBack(1))}, 1501)}
 	for name, call := range opsCalls() {
 		for _, ops := range lists {
 			for _, width := range []int64{-1, 0, 1, 2, 3, 5, 24, 25} {
